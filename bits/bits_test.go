@@ -6,6 +6,7 @@ import (
 	"testing"
 
 	"bindle/bits"
+	"bindle/sample"
 )
 
 // counted is how many bits a number has for a count that is handed in, by the chapter's words.
@@ -16,16 +17,6 @@ var counted = []struct{ asked, is int }{
 }
 
 var numbers = []uint32{0, 1, 2, 5, 0x80, 0xff, 0x100, 0x8001, 0xaaaaaaaa, 0x55555555, 0x12345678, 0x80000001, 0xdeadbeef, 0xfffffffe, 0xffffffff}
-
-// some is n bytes without a plain pattern, the same ones in each run.
-func some(n int, seed uint32) []byte {
-	b := make([]byte, n)
-	for i := range b {
-		seed = seed*1664525 + 1013904223
-		b[i] = byte(seed >> 24)
-	}
-	return b
-}
 
 // spread is the lowest bits of n, so many, one by one.
 func spread(n uint32, count int) []bool {
@@ -217,7 +208,7 @@ func TestNew(t *testing.T) {
 	wantReader(t, "of nil", bits.New(nil), 0, 0)
 	wantReader(t, "of no bytes", bits.New([]byte{}), 0, 0)
 	wantReader(t, "of one", bits.New([]byte{255}), 0, 8)
-	wantReader(t, "of five", bits.New(some(5, 1)), 0, 40)
+	wantReader(t, "of five", bits.New(sample.Bytes(5, 1)), 0, 40)
 }
 
 // The chapter doesn't say that b is kept.
@@ -240,7 +231,7 @@ func TestTakeExample(t *testing.T) {
 
 // Each place, each count: Peek, Take and Skip from there on.
 func TestReadEachPlace(t *testing.T) {
-	for _, b := range [][]byte{nil, {0xff}, some(2, 2), bytes.Repeat([]byte{255}, 5), some(7, 3)} {
+	for _, b := range [][]byte{nil, {0xff}, sample.Bytes(2, 2), bytes.Repeat([]byte{255}, 5), sample.Bytes(7, 3)} {
 		all := 8 * len(b)
 		for place := range all + 1 {
 			for _, c := range counted {
@@ -302,7 +293,7 @@ func TestReadOnlyWhatIsThere(t *testing.T) {
 }
 
 func TestReaderAlign(t *testing.T) {
-	b := some(3, 4)
+	b := sample.Bytes(3, 4)
 	for place := range 25 {
 		r := readerAt(t, b, place)
 		r.Align()
@@ -323,7 +314,7 @@ func TestReaderAlignOfNothing(t *testing.T) {
 }
 
 func TestReaderChangesNothing(t *testing.T) {
-	b := some(6, 5)
+	b := sample.Bytes(6, 5)
 	kept := bytes.Clone(b)
 	r := bits.New(b)
 	r.Take(7)

@@ -9,16 +9,9 @@ import (
 	"bindle/api"
 	"bindle/bits"
 	"bindle/canon"
+	"bindle/sample"
 	"bindle/weigh"
 )
-
-// dice throws numbers without a plain pattern, the same ones in each run.
-func dice(seed uint32) func(sides int) int {
-	return func(sides int) int {
-		seed = seed*1664525 + 1013904223
-		return int(seed>>8) % sides
-	}
-}
 
 func repeated(n, times int) []int {
 	return slices.Repeat([]int{n}, times)
@@ -31,28 +24,6 @@ func made(t *testing.T, l []int) *canon.Code {
 		t.Fatalf("New(%d): %v %d", l, c, e)
 	}
 	return c
-}
-
-// text is all bits of bytes from a place on, as 0 and 1.
-func text(b []byte, at int) string {
-	var s strings.Builder
-	for k := at; k < 8*len(b); k++ {
-		s.WriteByte('0' + b[k/8]>>(k%8)&1)
-	}
-	return s.String()
-}
-
-// reader reads bits that are written as 0 and 1.
-func reader(s string) *bits.Reader {
-	var w bits.Writer
-	pad := (8 - len(s)%8) % 8
-	w.Put(0, pad)
-	for _, c := range s {
-		w.Put(uint32(c-'0'), 1)
-	}
-	r := bits.New(w.Bytes())
-	r.Skip(pad)
-	return r
 }
 
 func wantTake(t *testing.T, what string, c *canon.Code, r *bits.Reader, symbol int, e api.Errno, goesOn int) {
@@ -80,8 +51,8 @@ func TestExample(t *testing.T) {
 	c := made(t, l)
 	for s, want := range []string{"10", "0", "11"} {
 		at := w.Len()
-		if !c.Put(&w, s) || w.Len() != at+len(want) || !strings.HasPrefix(text(w.Bytes(), at), want) {
-			t.Errorf("Put of %d: %s", s, text(w.Bytes(), at))
+		if !c.Put(&w, s) || sample.Written(&w)[at:] != want {
+			t.Errorf("Put of %d: %s, not %s", s, sample.Written(&w)[at:], want)
 		}
 	}
 	r := bits.New(w.Bytes())
@@ -199,7 +170,7 @@ func TestNewKeepsNothing(t *testing.T) {
 	if c.Len(0) != 2 || c.Len(1) != 1 || c.Symbols() != 3 {
 		t.Error("the lengths are kept")
 	}
-	wantTake(t, "behind a change", c, reader("10"), 0, api.OK, 2)
+	wantTake(t, "behind a change", c, sample.Bits("10"), 0, api.OK, 2)
 	if v, _ := canon.Values([]int{2, 1, 2}); v[0] != 2 {
 		t.Error("the answer isn't new memory")
 	}
@@ -230,23 +201,23 @@ func TestPutDeep(t *testing.T) {
 	for s, want := range []string{"111111111111110", "0", "10", "110", "1110", "11110", "111110", "1111110", "11111110", "111111110", "1111111110", "11111111110", "111111111110", "1111111111110", "11111111111110", "111111111111111"} {
 		var w bits.Writer
 		w.Put(1, 3)
-		if !c.Put(&w, s) || w.Len() != 3+len(want) || !strings.HasPrefix(text(w.Bytes(), 3), want) {
-			t.Errorf("Put of %d: %s, not %s", s, text(w.Bytes(), 3), want)
+		if !c.Put(&w, s) || sample.Written(&w) != "100"+want {
+			t.Errorf("Put of %d: %s, not 100%s", s, sample.Written(&w), want)
 		}
-		wantTake(t, want, c, reader(want), s, api.OK, len(want))
-		wantTake(t, want+"01", c, reader(want+"01"), s, api.OK, len(want))
-		wantTake(t, "too little of "+want, c, reader(want[:len(want)-1]), 0, api.ErrEnd, 0)
+		wantTake(t, want, c, sample.Bits(want), s, api.OK, len(want))
+		wantTake(t, want+"01", c, sample.Bits(want+"01"), s, api.OK, len(want))
+		wantTake(t, "too little of "+want, c, sample.Bits(want[:len(want)-1]), 0, api.ErrEnd, 0)
 	}
 }
 
 func TestTakeAlone(t *testing.T) {
 	c := made(t, []int{0, 0, 1})
-	wantTake(t, "0", c, reader("0"), 2, api.OK, 1)
-	wantTake(t, "00", c, reader("00"), 2, api.OK, 1)
-	wantTake(t, "01", c, reader("01"), 2, api.OK, 1)
-	wantTake(t, "1, which begins no code", c, reader("1"), 0, api.ErrCodes, 0)
-	wantTake(t, "10, which begins no code", c, reader("10"), 0, api.ErrCodes, 0)
-	wantTake(t, "no bits", c, reader(""), 0, api.ErrEnd, 0)
+	wantTake(t, "0", c, sample.Bits("0"), 2, api.OK, 1)
+	wantTake(t, "00", c, sample.Bits("00"), 2, api.OK, 1)
+	wantTake(t, "01", c, sample.Bits("01"), 2, api.OK, 1)
+	wantTake(t, "1, which begins no code", c, sample.Bits("1"), 0, api.ErrCodes, 0)
+	wantTake(t, "10, which begins no code", c, sample.Bits("10"), 0, api.ErrCodes, 0)
+	wantTake(t, "no bits", c, sample.Bits(""), 0, api.ErrEnd, 0)
 	wantTake(t, "no bytes", c, bits.New(nil), 0, api.ErrEnd, 0)
 	var w bits.Writer
 	if !c.Put(&w, 2) || w.Len() != 1 || w.Bytes()[0] != 0 {
@@ -256,12 +227,12 @@ func TestTakeAlone(t *testing.T) {
 
 func TestTakeAtTheEnd(t *testing.T) {
 	c := made(t, []int{2, 2, 2, 3, 3})
-	wantTake(t, "a whole code", c, reader("111"), 4, api.OK, 3)
-	wantTake(t, "too few bits", c, reader("11"), 0, api.ErrEnd, 0)
-	wantTake(t, "one bit", c, reader("1"), 0, api.ErrEnd, 0)
-	wantTake(t, "one bit 0", c, reader("0"), 0, api.ErrEnd, 0)
-	wantTake(t, "no bits", c, reader(""), 0, api.ErrEnd, 0)
-	r := reader("00")
+	wantTake(t, "a whole code", c, sample.Bits("111"), 4, api.OK, 3)
+	wantTake(t, "too few bits", c, sample.Bits("11"), 0, api.ErrEnd, 0)
+	wantTake(t, "one bit", c, sample.Bits("1"), 0, api.ErrEnd, 0)
+	wantTake(t, "one bit 0", c, sample.Bits("0"), 0, api.ErrEnd, 0)
+	wantTake(t, "no bits", c, sample.Bits(""), 0, api.ErrEnd, 0)
+	r := sample.Bits("00")
 	wantTake(t, "the last one", c, r, 0, api.OK, 2)
 	for range 2 {
 		wantTake(t, "behind the last one", c, r, 0, api.ErrEnd, 0)
@@ -282,7 +253,7 @@ func TestNil(t *testing.T) {
 	if none.Symbols() != 0 {
 		t.Errorf("%d symbols", none.Symbols())
 	}
-	wantTake(t, "a nil code", none, reader("0"), 0, api.ErrArg, 0)
+	wantTake(t, "a nil code", none, sample.Bits("0"), 0, api.ErrArg, 0)
 	wantTake(t, "both", none, nil, 0, api.ErrArg, 0)
 	wantTake(t, "a nil reader", made(t, []int{1, 1}), nil, 0, api.ErrArg, 0)
 }
@@ -361,7 +332,7 @@ func wantCodes(t *testing.T, l []int, codes []string) *canon.Code {
 }
 
 func TestByTheWords(t *testing.T) {
-	throw := dice(3)
+	throw := sample.Dice(3)
 	for range 300 {
 		l := lengths(t, throw)
 		codes := slow(l)
@@ -379,8 +350,8 @@ func TestByTheWords(t *testing.T) {
 				all += codes[s]
 			}
 		}
-		if w.Len() != len(all) || !strings.HasPrefix(text(w.Bytes(), 0), all) {
-			t.Fatalf("of %d: %s, not %s", l, text(w.Bytes(), 0), all)
+		if sample.Written(&w) != all {
+			t.Fatalf("of %d: %s, not %s", l, sample.Written(&w), all)
 		}
 		r := bits.New(w.Bytes())
 		for _, s := range put {
@@ -390,7 +361,7 @@ func TestByTheWords(t *testing.T) {
 }
 
 func TestTakeOfAnything(t *testing.T) {
-	throw := dice(4)
+	throw := sample.Dice(4)
 	for range 400 {
 		l := lengths(t, throw)
 		codes := slow(l)
@@ -404,7 +375,7 @@ func TestTakeOfAnything(t *testing.T) {
 		}
 		r := bits.New(b)
 		for {
-			there := text(b, r.At())
+			there := sample.Text(r)
 			s, e := slowTake(codes, there)
 			wantTake(t, there, c, r, s, e, len(codes[s])*btoi(e == api.OK))
 			if weigh.Full(l) && e == api.ErrCodes {
@@ -431,11 +402,11 @@ func btoi(b bool) int {
 func written(c *canon.Code, s int) string {
 	var w bits.Writer
 	c.Put(&w, s)
-	return text(w.Bytes(), 0)[:w.Len()]
+	return sample.Written(&w)
 }
 
 func TestNoCodeBeginsAnother(t *testing.T) {
-	throw := dice(5)
+	throw := sample.Dice(5)
 	for range 60 {
 		l := lengths(t, throw)
 		c := made(t, l)

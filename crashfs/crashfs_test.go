@@ -12,6 +12,7 @@ import (
 	"bindle/crashfs"
 	"bindle/disk"
 	"bindle/names"
+	"bindle/sample"
 )
 
 const sector = 512
@@ -591,11 +592,7 @@ func same(t *testing.T, f *crashfs.FS, s *slow) {
 }
 
 func TestByTheWords(t *testing.T) {
-	seed := uint32(7)
-	dice := func(sides int) int {
-		seed = seed*1664525 + 1013904223
-		return int(seed>>16) % sides
-	}
+	dice := sample.Dice(7)
 	few := []string{"a", "b", "c", "d", ""}
 	for round := range 60 {
 		f := crashfs.New(round % 20)

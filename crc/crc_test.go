@@ -8,19 +8,10 @@ import (
 	"testing"
 
 	"bindle/crc"
+	"bindle/sample"
 )
 
 const example = "123456789"
-
-// some is n bytes without a plain pattern, the same ones in each run.
-func some(n int, seed uint32) []byte {
-	b := make([]byte, n)
-	for i := range b {
-		seed = seed*1664525 + 1013904223
-		b[i] = byte(seed >> 24)
-	}
-	return b
-}
 
 // byTurns goes on by the chapter's words, without a table.
 func byTurns(n uint32, b []byte) uint32 {
@@ -87,7 +78,7 @@ func TestGo(t *testing.T) {
 			b := []byte{byte(x)}
 			wantSum(t, "of a byte", c.Go(n, b), byTurns(n, b))
 		}
-		b := some(300, n)
+		b := sample.Bytes(300, n)
 		wantSum(t, "of many bytes", c.Go(n, b), byTurns(n, b))
 		for at := range b {
 			wantSum(t, "in two steps", c.Go(c.Go(n, b[:at]), b[at:]), c.Go(n, b))
@@ -104,7 +95,7 @@ func TestSum(t *testing.T) {
 	wantSum(t, "of four full bytes", c.Sum([]byte{255, 255, 255, 255}), 0xffffffff)
 	wantSum(t, "of a", c.Sum([]byte("a")), 0xe8b7be43)
 	for _, n := range []int{1, 2, 3, 4, 5, 31, 32, 33, 511, 512, 513, 65536, 1 << 20} {
-		b := some(n, uint32(n))
+		b := sample.Bytes(n, uint32(n))
 		wantSum(t, "by the words", c.Sum(b), ^byTurns(0xffffffff, b))
 		wantSum(t, "of another hand", c.Sum(b), crc32.ChecksumIEEE(b))
 		wantSum(t, "from Go", c.Sum(b), ^c.Go(0xffffffff, b))
@@ -121,7 +112,7 @@ func TestJoin(t *testing.T) {
 	wantSum(t, "nil first", c.Join(nil, whole), 0xcbf43926)
 	wantSum(t, "nil behind", c.Join(whole, nil), 0xcbf43926)
 	wantSum(t, "in its order", c.Join([]byte("56789"), []byte("1234")), crc32.ChecksumIEEE([]byte("567891234")))
-	a, b := some(1000, 1), some(777, 2)
+	a, b := sample.Bytes(1000, 1), sample.Bytes(777, 2)
 	wantSum(t, "of many bytes", c.Join(a, b), crc32.ChecksumIEEE(append(bytes.Clone(a), b...)))
 }
 
@@ -129,7 +120,7 @@ func TestJoin(t *testing.T) {
 func TestSumsChangeNothing(t *testing.T) {
 	c := crc.Make()
 	before := c
-	all := some(64, 3)
+	all := sample.Bytes(64, 3)
 	kept := bytes.Clone(all)
 	c.Go(7, all[:16])
 	c.Sum(all[:16])
@@ -177,7 +168,7 @@ func TestFlipExamples(t *testing.T) {
 }
 
 func TestFlipEachPlace(t *testing.T) {
-	b := some(9, 4)
+	b := sample.Bytes(9, 4)
 	for at := range 8*len(b) + 40 {
 		for _, pattern := range []uint32{1, 2, 1 << 31, 1<<31 | 1, 0x80000001, 0xa5a5a5a5, 0xffffffff, 0x00ffff00} {
 			got := crc.Flip(b, at, pattern)
@@ -214,7 +205,7 @@ func TestFlipBehindTheEnd(t *testing.T) {
 
 // Below 0 not even the bits are changed whose places would be there.
 func TestFlipWrongPlaces(t *testing.T) {
-	b := some(6, 5)
+	b := sample.Bytes(6, 5)
 	for _, at := range []int{-1, -2, -7, -8, -31, -32, -1 << 40, math.MinInt, math.MinInt + 1} {
 		wantBytes(t, "below 0", crc.Flip(b, at, 0xffffffff), b)
 	}
@@ -241,7 +232,7 @@ func TestFlipNewMemory(t *testing.T) {
 
 func TestSumGoesOn(t *testing.T) {
 	c := crc.Make()
-	b := some(200, 6)
+	b := sample.Bytes(200, 6)
 	for at := range len(b) + 1 {
 		first, behind := b[:at], b[at:]
 		wantSum(t, "on from the sum", ^c.Go(^c.Sum(first), behind), c.Sum(b))
@@ -264,7 +255,7 @@ func wantUnlike(t *testing.T, c *crc.Table, b []byte, at int, pattern uint32) {
 func TestBurstsAreFound(t *testing.T) {
 	c := crc.Make()
 	for _, n := range []int{1, 2, 4, 5, 16, 61} {
-		for _, b := range [][]byte{make([]byte, n), bytes.Repeat([]byte{255}, n), some(n, 7)} {
+		for _, b := range [][]byte{make([]byte, n), bytes.Repeat([]byte{255}, n), sample.Bytes(n, 7)} {
 			seed := uint32(8)
 			for at := range 8 * n {
 				for k := range 32 {
@@ -284,7 +275,7 @@ func TestBurstsAreFound(t *testing.T) {
 // All patterns of 16 bits at one place, and their like at the farther end of 32 bits.
 func TestBurstsOfAllPatterns(t *testing.T) {
 	c := crc.Make()
-	b := some(40, 9)
+	b := sample.Bytes(40, 9)
 	for p := uint32(1); p < 1<<16; p++ {
 		wantUnlike(t, &c, b, 83, p)
 		wantUnlike(t, &c, b, 83, p<<16)
@@ -294,7 +285,7 @@ func TestBurstsOfAllPatterns(t *testing.T) {
 
 func TestBurstsInLongBytes(t *testing.T) {
 	c := crc.Make()
-	b := some(65536, 10)
+	b := sample.Bytes(65536, 10)
 	for _, at := range []int{0, 1, 31, 4095, 4096, 262143, 8*65536 - 32, 8*65536 - 1} {
 		for _, pattern := range []uint32{1, 3, 0x80000001, 0xffffffff} {
 			wantUnlike(t, &c, b, at, pattern)

@@ -8,22 +8,13 @@ import (
 
 	"bindle/api"
 	"bindle/disk"
+	"bindle/sample"
 )
 
 const (
 	sector = 512
 	whole  = 4096 * sector
 )
-
-// some is n bytes without a plain pattern, the same ones in each run.
-func some(n int, seed uint32) []byte {
-	b := make([]byte, n)
-	for i := range b {
-		seed = seed*1664525 + 1013904223
-		b[i] = byte(seed >> 24)
-	}
-	return b
-}
 
 // spoilt is the byte j of a sector that was never safe, by the chapter's words.
 func spoilt(fill byte, place, j int) byte {
@@ -102,7 +93,7 @@ func TestWriteSpans(t *testing.T) {
 		{1, 1535, 3, 3}, {1, 1536, 4, 4}, {700, 1000, 4, 3}, {1023, 1, 2, 1}, {1024, 1024, 4, 2}, {5000, 3, 10, 1}, {0, 5120, 10, 10},
 	} {
 		var d disk.Disk
-		b := some(x.n, uint32(x.at))
+		b := sample.Bytes(x.n, uint32(x.at))
 		write(t, &d, x.at, b)
 		wantDisk(t, "a write", &d, x.size, x.waiting)
 		want := make([]byte, x.size*sector)
@@ -113,9 +104,9 @@ func TestWriteSpans(t *testing.T) {
 
 func TestWriteInto(t *testing.T) {
 	var d disk.Disk
-	want := some(3*sector, 1)
+	want := sample.Bytes(3*sector, 1)
 	write(t, &d, 0, want)
-	b := some(600, 2)
+	b := sample.Bytes(600, 2)
 	write(t, &d, 500, b)
 	copy(want[500:], b)
 	wantDisk(t, "over others", &d, 3, 6)
@@ -147,7 +138,7 @@ func TestWriteOfNoBytes(t *testing.T) {
 
 func TestWriteNowhere(t *testing.T) {
 	var d disk.Disk
-	kept := some(700, 3)
+	kept := sample.Bytes(700, 3)
 	write(t, &d, 0, kept)
 	for _, x := range []struct{ at, n int }{
 		{-1, 1}, {-1, 2}, {-600, 700}, {-1 << 32, 5}, {math.MinInt, 1}, {math.MinInt, 0},
@@ -167,7 +158,7 @@ func TestWriteToTheLastByte(t *testing.T) {
 	wantDisk(t, "the last byte", &d, 4096, 1)
 	wantBytes(t, "the last byte", read(t, &d, whole-2, 2), []byte{0, 7})
 	var all disk.Disk
-	b := some(whole, 4)
+	b := sample.Bytes(whole, 4)
 	write(t, &all, 0, b)
 	wantDisk(t, "all bytes", &all, 4096, 4096)
 	wantAll(t, "all bytes", &all, b)
@@ -175,7 +166,7 @@ func TestWriteToTheLastByte(t *testing.T) {
 
 func TestRead(t *testing.T) {
 	var d disk.Disk
-	b := some(3*sector, 5)
+	b := sample.Bytes(3*sector, 5)
 	write(t, &d, 0, b)
 	for _, at := range []int{0, 1, 511, 512, 513, 1000, 1535} {
 		for _, n := range []int{0, 1, 2, 511, 512, 513, 1536, 2000} {
@@ -193,7 +184,7 @@ func TestRead(t *testing.T) {
 
 func TestReadNowhere(t *testing.T) {
 	var d disk.Disk
-	write(t, &d, 0, some(100, 6))
+	write(t, &d, 0, sample.Bytes(100, 6))
 	for _, x := range []struct{ at, n int }{
 		{-1, 0}, {-1, 1}, {-1, 5}, {0, -1}, {5, -1}, {-3, -3}, {math.MinInt, 0}, {0, math.MinInt}, {math.MinInt, math.MinInt},
 		{whole, 1}, {whole + 1, 0}, {whole - 1, 2}, {0, whole + 1}, {1, whole}, {whole + 5, -5}, {math.MaxInt, 1}, {1, math.MaxInt}, {math.MaxInt, math.MaxInt}, {math.MaxInt, 0},
@@ -234,7 +225,7 @@ func TestNeedIsWhatWriteLeadsTo(t *testing.T) {
 	for i := range 200 {
 		at, n := i*i*37%6000, i*91%1500
 		need, ok := d.Need(at, n)
-		write(t, &d, at, some(n, uint32(i)))
+		write(t, &d, at, sample.Bytes(n, uint32(i)))
 		if !ok || d.Size() != need {
 			t.Fatalf("Need(%d, %d): %d %t, and then size %d", at, n, need, ok, d.Size())
 		}
@@ -243,7 +234,7 @@ func TestNeedIsWhatWriteLeadsTo(t *testing.T) {
 
 func TestNewMemory(t *testing.T) {
 	var d disk.Disk
-	b := some(2*sector, 7)
+	b := sample.Bytes(2*sector, 7)
 	want := bytes.Clone(b)
 	write(t, &d, 0, b)
 	clear(b)
@@ -265,7 +256,7 @@ func TestSync(t *testing.T) {
 	var d disk.Disk
 	d.Sync()
 	wantDisk(t, "of an empty one", &d, 0, 0)
-	b := some(3*sector, 8)
+	b := sample.Bytes(3*sector, 8)
 	write(t, &d, 0, b)
 	d.Sync()
 	wantDisk(t, "behind a Sync", &d, 3, 0)
@@ -280,12 +271,12 @@ func TestSync(t *testing.T) {
 // What a Sync made safe isn't the memory that is written on.
 func TestSyncTwice(t *testing.T) {
 	var d disk.Disk
-	write(t, &d, 0, some(2*sector, 9))
+	write(t, &d, 0, sample.Bytes(2*sector, 9))
 	d.Sync()
-	b := some(3*sector, 10)
+	b := sample.Bytes(3*sector, 10)
 	write(t, &d, 0, b)
 	d.Sync()
-	write(t, &d, 100, some(1000, 11))
+	write(t, &d, 100, sample.Bytes(1000, 11))
 	d.Crash(nil, 1)
 	wantAll(t, "behind two of them", &d, b)
 }
@@ -310,7 +301,7 @@ func TestCrashOfAnEmptyOne(t *testing.T) {
 func TestCrashOfWhatWasNeverSafe(t *testing.T) {
 	for _, fill := range []byte{0, 1, 100, 255} {
 		var d disk.Disk
-		write(t, &d, 40*sector+3, some(sector, 12))
+		write(t, &d, 40*sector+3, sample.Bytes(sector, 12))
 		d.Crash(nil, fill)
 		wantDisk(t, "nothing safe", &d, 42, 0)
 		wantAll(t, "nothing safe", &d, spoiltSectors(fill, 0, 41))
@@ -323,10 +314,10 @@ func TestCrashOfWhatWasNeverSafe(t *testing.T) {
 
 func TestCrashBehindASync(t *testing.T) {
 	var d disk.Disk
-	b := some(2*sector, 13)
+	b := sample.Bytes(2*sector, 13)
 	write(t, &d, 0, b)
 	d.Sync()
-	write(t, &d, sector, some(3*sector, 14))
+	write(t, &d, sector, sample.Bytes(3*sector, 14))
 	d.Crash(nil, 9)
 	wantDisk(t, "two safe, two not", &d, 4, 0)
 	wantAll(t, "two safe, two not", &d, append(b, spoiltSectors(9, 2, 3)...))
@@ -335,7 +326,7 @@ func TestCrashBehindASync(t *testing.T) {
 // What a crash left is safe: the next one leaves it.
 func TestCrashTwice(t *testing.T) {
 	var d disk.Disk
-	b := some(3*sector, 15)
+	b := sample.Bytes(3*sector, 15)
 	write(t, &d, 0, b)
 	d.Crash([]bool{false, true}, 9)
 	want := append(spoiltSectors(9, 0, 0), b[sector:2*sector]...)
@@ -343,14 +334,14 @@ func TestCrashTwice(t *testing.T) {
 	wantAll(t, "a crash", &d, want)
 	d.Crash([]bool{true, true, true}, 33)
 	wantAll(t, "the next one", &d, want)
-	write(t, &d, 100, some(500, 16))
+	write(t, &d, 100, sample.Bytes(500, 16))
 	d.Crash(nil, 44)
 	wantAll(t, "the one behind a write", &d, want)
 }
 
 // Each sector that waits is one as it was right behind its write; the later one that is kept counts.
 func TestCrashKeepsInOrder(t *testing.T) {
-	first, second, third := some(sector, 17), some(200, 18), some(sector, 19)
+	first, second, third := sample.Bytes(sector, 17), sample.Bytes(200, 18), sample.Bytes(sector, 19)
 	behindSecond := append(append(bytes.Clone(first[:100]), second...), first[300:]...)
 	safe := bytes.Repeat([]byte{3}, sector)
 	for _, x := range []struct {
@@ -378,7 +369,7 @@ func TestCrashKeepsInOrder(t *testing.T) {
 
 // Marks are those of what waits, not of sectors: of a write that spans several, each has its own, the lowest sector first.
 func TestCrashKeepsSomeOfASpan(t *testing.T) {
-	b := some(4*sector, 20)
+	b := sample.Bytes(4*sector, 20)
 	for marks := range 16 {
 		var d disk.Disk
 		write(t, &d, 2*sector, b)
@@ -426,7 +417,7 @@ func TestNilDisk(t *testing.T) {
 func TestWhatWasSyncedIsThere(t *testing.T) {
 	for _, keep := range [][]bool{nil, {true}, {true, true, true, true, true, true}} {
 		var d disk.Disk
-		write(t, &d, 700, some(2000, 21))
+		write(t, &d, 700, sample.Bytes(2000, 21))
 		d.Sync()
 		want := read(t, &d, 0, 6*sector)
 		d.Crash(keep, 5)
@@ -436,11 +427,11 @@ func TestWhatWasSyncedIsThere(t *testing.T) {
 
 func TestACrashThatKeepsAllIsNone(t *testing.T) {
 	var d disk.Disk
-	write(t, &d, 0, some(5*sector, 22))
+	write(t, &d, 0, sample.Bytes(5*sector, 22))
 	d.Sync()
-	write(t, &d, 100, some(1000, 23))
-	write(t, &d, 4*sector+9, some(1200, 24))
-	write(t, &d, 4*sector, some(2*sector, 25))
+	write(t, &d, 100, sample.Bytes(1000, 23))
+	write(t, &d, 4*sector+9, sample.Bytes(1200, 24))
+	write(t, &d, 4*sector, sample.Bytes(2*sector, 25))
 	want := read(t, &d, 0, d.Size()*sector)
 	keep := make([]bool, d.Waiting())
 	for i := range keep {
@@ -510,12 +501,12 @@ func TestByTheWords(t *testing.T) {
 	for seed := range uint32(60) {
 		var d disk.Disk
 		var s slow
-		dice := some(400, seed)
+		dice := sample.Bytes(400, seed)
 		for i := 0; i+4 < len(dice); i += 5 {
 			switch x := dice[i] % 16; {
 			case x < 11:
 				at := int(dice[i+1])*17 + int(dice[i+2])%3*sector
-				b := some(int(dice[i+3])*int(dice[i+4]%9), uint32(i))
+				b := sample.Bytes(int(dice[i+3])*int(dice[i+4]%9), uint32(i))
 				write(t, &d, at, b)
 				s.write(at, b)
 			case x < 13:

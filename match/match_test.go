@@ -7,20 +7,13 @@ import (
 	"testing"
 
 	"bindle/match"
+	"bindle/sample"
 )
 
 const (
 	window  = 32768
 	longest = 258
 )
-
-// dice throws numbers without a plain pattern, the same ones in each run.
-func dice(seed uint32) func(sides int) int {
-	return func(sides int) int {
-		seed = seed*1664525 + 1013904223
-		return int(seed>>8) % sides
-	}
-}
 
 // few is n bytes of so many kinds.
 func few(throw func(int) int, n, kinds int) []byte {
@@ -286,7 +279,7 @@ func slowBest(b []byte, at, depth int) (n, dist int) {
 }
 
 func TestByTheWords(t *testing.T) {
-	throw := dice(1)
+	throw := sample.Dice(1)
 	for round := range 60 {
 		b := few(throw, throw(500), 1+round%4)
 		if round%5 == 0 {
@@ -317,7 +310,7 @@ func TestByTheWords(t *testing.T) {
 }
 
 func TestManyPlaces(t *testing.T) {
-	throw := dice(2)
+	throw := sample.Dice(2)
 	b := few(throw, 70000, 3)
 	f := match.New(b)
 	for range 60 {

@@ -10,6 +10,7 @@ import (
 
 	"bindle/api"
 	"bindle/names"
+	"bindle/sample"
 )
 
 // long is the longest name that there may be, tooLong one of a byte more.
@@ -437,11 +438,7 @@ func TestByTheWords(t *testing.T) {
 		few = append(few, "n"+strconv.Itoa(i))
 	}
 	few = append(few, "", long, tooLong)
-	seed := uint32(1)
-	dice := func(sides int) int {
-		seed = seed*1664525 + 1013904223
-		return int(seed>>16) % sides
-	}
+	dice := sample.Dice(1)
 	for range 40 {
 		var d names.Dir
 		s := slow{{}}

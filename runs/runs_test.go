@@ -10,54 +10,14 @@ import (
 	"bindle/bits"
 	"bindle/canon"
 	"bindle/runs"
+	"bindle/sample"
 	"bindle/weigh"
 )
 
 type part = runs.Part
 
-// dice throws numbers without a plain pattern, the same ones in each run.
-func dice(seed uint32) func(sides int) int {
-	return func(sides int) int {
-		seed = seed*1664525 + 1013904223
-		return int(seed>>8) % sides
-	}
-}
-
 func repeated(n, times int) []int {
 	return slices.Repeat([]int{n}, times)
-}
-
-// number is so many bits of n, as 0 and 1, the lowest one first.
-func number(n, width int) string {
-	var s strings.Builder
-	for k := range width {
-		s.WriteByte('0' + byte(n>>k&1))
-	}
-	return s.String()
-}
-
-// reader reads bits that are written as 0 and 1.
-func reader(s string) *bits.Reader {
-	var w bits.Writer
-	pad := (8 - len(s)%8) % 8
-	w.Put(0, pad)
-	for _, c := range s {
-		w.Put(uint32(c-'0'), 1)
-	}
-	r := bits.New(w.Bytes())
-	r.Skip(pad)
-	return r
-}
-
-// written is all bits of a writer, as 0 and 1.
-func written(w *bits.Writer) string {
-	r := bits.New(w.Bytes())
-	var s strings.Builder
-	for range w.Len() {
-		n, _ := r.Take(1)
-		s.WriteByte('0' + byte(n))
-	}
-	return s.String()
 }
 
 // 9.1
@@ -191,9 +151,9 @@ func TestJoinRefused(t *testing.T) {
 func table(t *testing.T, n int, lengths []int, parts []part) string {
 	t.Helper()
 	var s strings.Builder
-	s.WriteString(number(n, 9))
+	s.WriteString(sample.Number(n, 9))
 	for _, length := range lengths {
-		s.WriteString(number(length, 4))
+		s.WriteString(sample.Number(length, 4))
 	}
 	c, e := canon.New(lengths)
 	if e != api.OK {
@@ -202,14 +162,14 @@ func table(t *testing.T, n int, lengths []int, parts []part) string {
 	for _, p := range parts {
 		var w bits.Writer
 		c.Put(&w, p.Number)
-		s.WriteString(written(&w))
+		s.WriteString(sample.Written(&w))
 		switch p.Number {
 		case 16:
-			s.WriteString(number(p.Many-3, 2))
+			s.WriteString(sample.Number(p.Many-3, 2))
 		case 17:
-			s.WriteString(number(p.Many-3, 3))
+			s.WriteString(sample.Number(p.Many-3, 3))
 		case 18:
-			s.WriteString(number(p.Many-11, 7))
+			s.WriteString(sample.Number(p.Many-11, 7))
 		}
 	}
 	return s.String()
@@ -230,7 +190,7 @@ func best(t *testing.T, parts []part) []int {
 
 func wantTake(t *testing.T, what, bits string, want []int, e api.Errno) {
 	t.Helper()
-	if got, ge := runs.Take(reader(bits)); !slices.Equal(got, want) || ge != e {
+	if got, ge := runs.Take(sample.Bits(bits)); !slices.Equal(got, want) || ge != e {
 		t.Errorf("%s: Take: %d %d, not %d %d", what, got, ge, want, e)
 	}
 }
@@ -243,7 +203,7 @@ func TestPutByHand(t *testing.T) {
 	}
 	// 4 lengths; of 5 and 16 a code of one bit; 5; 16, three times
 	want := "10" + "001000000" + strings.Repeat("0000", 5) + "1000" + strings.Repeat("0000", 10) + "1000" + "0000" + "0000" + "0" + "1" + "00"
-	if got := written(&w); got != want {
+	if got := sample.Written(&w); got != want {
 		t.Errorf("%s, not %s", got, want)
 	}
 	wantTake(t, "by hand", want[2:], []int{5, 5, 5, 5}, api.OK)
@@ -254,14 +214,14 @@ func TestPutOfOneNumber(t *testing.T) {
 		l    []int
 		want string
 	}{
-		{[]int{7}, number(1, 9) + strings.Repeat("0000", 7) + "1000" + strings.Repeat("0000", 11) + "0"},
-		{repeated(0, 138), number(138, 9) + strings.Repeat("0000", 18) + "1000" + "0" + "1111111"},
-		{repeated(0, 11), number(11, 9) + strings.Repeat("0000", 18) + "1000" + "0" + "0000000"},
-		{repeated(0, 10), number(10, 9) + strings.Repeat("0000", 17) + "1000" + "0000" + "0" + "111"},
+		{[]int{7}, sample.Number(1, 9) + strings.Repeat("0000", 7) + "1000" + strings.Repeat("0000", 11) + "0"},
+		{repeated(0, 138), sample.Number(138, 9) + strings.Repeat("0000", 18) + "1000" + "0" + "1111111"},
+		{repeated(0, 11), sample.Number(11, 9) + strings.Repeat("0000", 18) + "1000" + "0" + "0000000"},
+		{repeated(0, 10), sample.Number(10, 9) + strings.Repeat("0000", 17) + "1000" + "0000" + "0" + "111"},
 	} {
 		var w bits.Writer
-		if e := runs.Put(&w, x.l); e != api.OK || written(&w) != x.want {
-			t.Errorf("Put(%d): %d, %s, not %s", x.l, e, written(&w), x.want)
+		if e := runs.Put(&w, x.l); e != api.OK || sample.Written(&w) != x.want {
+			t.Errorf("Put(%d): %d, %s, not %s", x.l, e, sample.Written(&w), x.want)
 		}
 	}
 }
@@ -331,7 +291,7 @@ func TestTakeOtherParts(t *testing.T) {
 func TestTakeGoesOn(t *testing.T) {
 	l := []int{2, 2, 0, 0, 0, 0, 3, 3}
 	s := table(t, len(l), best(t, runs.Parts(l)), runs.Parts(l))
-	r := reader(s + "101")
+	r := sample.Bits(s + "101")
 	if got, e := runs.Take(r); e != api.OK || !slices.Equal(got, l) || r.Left() != 3 {
 		t.Errorf("%d %d, %d left", got, e, r.Left())
 	}
@@ -350,18 +310,18 @@ func TestTakeSizes(t *testing.T) {
 	lengths := append(repeated(0, 17), 1, 1)
 	behind := strings.Repeat("0000", 17) + "1000" + "1000"
 	for _, n := range []int{0, 321, 322, 400, 511} {
-		wantTake(t, "a wrong size", number(n, 9), nil, api.ErrSize)
-		wantTake(t, "a wrong size, and more", number(n, 9)+behind+"0", nil, api.ErrSize)
+		wantTake(t, "a wrong size", sample.Number(n, 9), nil, api.ErrSize)
+		wantTake(t, "a wrong size, and more", sample.Number(n, 9)+behind+"0", nil, api.ErrSize)
 	}
 	for n := range 9 {
-		wantTake(t, "a size that isn't all there", number(511, n), nil, api.ErrEnd)
+		wantTake(t, "a size that isn't all there", sample.Number(511, n), nil, api.ErrEnd)
 	}
 	wantTake(t, "320", table(t, 320, lengths, []part{{18, 138}, {18, 138}, {18, 44}}), repeated(0, 320), api.OK)
-	wantTake(t, "1", number(1, 9)+"1000"+strings.Repeat("0000", 18)+"0", []int{0}, api.OK)
+	wantTake(t, "1", sample.Number(1, 9)+"1000"+strings.Repeat("0000", 18)+"0", []int{0}, api.OK)
 }
 
 func TestTakeCodes(t *testing.T) {
-	size := number(4, 9)
+	size := sample.Number(4, 9)
 	for _, x := range []struct {
 		what    string
 		lengths []int
@@ -383,7 +343,7 @@ func TestTakeCodes(t *testing.T) {
 			if i > 0 {
 				wantTake(t, x.what+", lengths that aren't all there", s, nil, api.ErrEnd)
 			}
-			s += number(n, 4)
+			s += sample.Number(n, 4)
 		}
 		wantTake(t, x.what, s+x.behind, nil, x.want)
 	}
@@ -454,7 +414,7 @@ func slowParts(l []int) []part {
 }
 
 func TestByTheWords(t *testing.T) {
-	throw := dice(1)
+	throw := sample.Dice(1)
 	for n := 1; n <= 320; n++ {
 		l := some(throw, n)
 		p := slowParts(l)
@@ -466,8 +426,8 @@ func TestByTheWords(t *testing.T) {
 		}
 		want := table(t, n, best(t, p), p)
 		var w bits.Writer
-		if e := runs.Put(&w, l); e != api.OK || written(&w) != want {
-			t.Fatalf("Put(%d): %d, %s, not %s", l, e, written(&w), want)
+		if e := runs.Put(&w, l); e != api.OK || sample.Written(&w) != want {
+			t.Fatalf("Put(%d): %d, %s, not %s", l, e, sample.Written(&w), want)
 		}
 		r := bits.New(w.Bytes())
 		if got, e := runs.Take(r); e != api.OK || !slices.Equal(got, l) || r.At() != w.Len() {
@@ -478,7 +438,7 @@ func TestByTheWords(t *testing.T) {
 
 // Whatever the bits are, what is taken are lengths that could be put, or there is an error.
 func TestTakeOfAnything(t *testing.T) {
-	throw := dice(2)
+	throw := sample.Dice(2)
 	for range 2000 {
 		l := some(throw, 1+throw(320))
 		p := slowParts(l)
@@ -486,7 +446,7 @@ func TestTakeOfAnything(t *testing.T) {
 		for range 1 + throw(3) {
 			b[throw(len(b))] ^= 1
 		}
-		got, e := runs.Take(reader(string(b[:len(b)-throw(2)*throw(len(b))])))
+		got, e := runs.Take(sample.Bits(string(b[:len(b)-throw(2)*throw(len(b))])))
 		if e == api.OK && (len(got) == 0 || len(got) > 320 || len(runs.Parts(got)) == 0) || e != api.OK && len(got) != 0 {
 			t.Fatalf("%s: %d %d", b, got, e)
 		}

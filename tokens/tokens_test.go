@@ -9,20 +9,13 @@ import (
 
 	"bindle/api"
 	"bindle/match"
+	"bindle/sample"
 	"bindle/tokens"
 )
 
 type token = api.Token
 
 const window = 32768
-
-// dice throws numbers without a plain pattern, the same ones in each run.
-func dice(seed uint32) func(sides int) int {
-	return func(sides int) int {
-		seed = seed*1664525 + 1013904223
-		return int(seed>>8) % sides
-	}
-}
 
 // byteTokens is each byte as a token.
 func byteTokens(text string) []token {
@@ -344,7 +337,7 @@ func some(throw func(int) int, n int) []byte {
 }
 
 func TestByTheWords(t *testing.T) {
-	throw := dice(1)
+	throw := sample.Dice(1)
 	for round := range 200 {
 		b := some(throw, throw(600))
 		if round%20 == 0 {
@@ -369,7 +362,7 @@ func TestByTheWords(t *testing.T) {
 }
 
 func TestWhole(t *testing.T) {
-	throw := dice(2)
+	throw := sample.Dice(2)
 	b := some(throw, 65536)
 	for level := range 4 {
 		l := tokens.Split(b, level)

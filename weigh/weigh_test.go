@@ -7,18 +7,11 @@ import (
 	"testing"
 
 	"bindle/api"
+	"bindle/sample"
 	"bindle/weigh"
 )
 
 const heaviest = 1 << 30
-
-// dice throws numbers without a plain pattern, the same ones in each run.
-func dice(seed uint32) func(sides int) int {
-	return func(sides int) int {
-		seed = seed*1664525 + 1013904223
-		return int(seed>>8) % sides
-	}
-}
 
 func lengths(t *testing.T, w []int) []int {
 	t.Helper()
@@ -206,7 +199,7 @@ func weights(throw func(int) int, n int) []int {
 }
 
 func TestByTheWords(t *testing.T) {
-	throw := dice(1)
+	throw := sample.Dice(1)
 	for n := range 60 {
 		for range 8 {
 			w := weights(throw, n)
@@ -364,7 +357,7 @@ func least(w []int) int {
 }
 
 func TestWhatFollows(t *testing.T) {
-	throw := dice(9)
+	throw := sample.Dice(9)
 	for n := 2; n <= 40; n++ {
 		lists := [][]int{fibonacci(n), weights(throw, n), weights(throw, n), weights(throw, n)}
 		for _, w := range lists {
