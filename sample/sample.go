@@ -1,10 +1,12 @@
-// Package sample is what the tests of several layers need: numbers and bytes without a plain pattern, the same ones in each run, and bits as text.
+// Package sample is what the tests of several layers need: numbers and bytes without a plain pattern, the same ones in each run, bits as text, and what is changed within 32 bits.
 package sample
 
 import (
+	"iter"
 	"strings"
 
 	"bindle/bits"
+	"bindle/crc"
 )
 
 // next is the number behind one. Its highest bits have the least of a pattern.
@@ -28,6 +30,20 @@ func Bytes(n int, seed uint32) []byte {
 		b[i] = byte(seed >> 24)
 	}
 	return b
+}
+
+// Bursts tells, of each place of a bit, bytes in which that bit is changed, and others within 32 bits from it on, again and again.
+func Bursts(b []byte, seed uint32) iter.Seq2[int, []byte] {
+	return func(yield func(int, []byte) bool) {
+		for at := range 8 * len(b) {
+			seed = next(seed)
+			for _, pattern := range []uint32{1, 1 | 1<<(seed>>27), 1 | 1<<31, 1 | seed, 0xffffffff} {
+				if !yield(at, crc.Flip(b, at, pattern)) {
+					return
+				}
+			}
+		}
+	}
 }
 
 // Bits reads the bits of a text of 0 and 1, and no more than these.

@@ -37,3 +37,27 @@ func TestTheSameInEachRun(t *testing.T) {
 		t.Error("the bytes of a seed")
 	}
 }
+
+func TestBursts(t *testing.T) {
+	b := sample.Bytes(9, 7)
+	told := make([]int, 8*len(b))
+	for at, x := range sample.Bursts(b, 1) {
+		told[at]++
+		for place := range 8 * len(b) {
+			changed := (x[place/8]^b[place/8])>>(place%8)&1 == 1
+			if changed && (place < at || place >= at+32) || !changed && place == at {
+				t.Fatalf("at %d: %x of %x", at, x, b)
+			}
+		}
+	}
+	for at, n := range told {
+		if n != 5 {
+			t.Errorf("at %d: %d", at, n)
+		}
+	}
+	for at := range sample.Bursts(b, 1) {
+		if at == 3 {
+			break
+		}
+	}
+}
