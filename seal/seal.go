@@ -46,3 +46,28 @@ func Check(t *crc.Table, r *field.Reader, b []byte, at int) api.Errno {
 	}
 	return api.OK
 }
+
+// PutThree is a mark, three numbers, and the sum of all these.
+func PutThree(t *crc.Table, mark string, n [3]uint32) []byte {
+	b := []byte(mark)
+	for _, x := range n {
+		b = field.Put(b, x, wide)
+	}
+	return Close(t, b)
+}
+
+// TakeThree is the three numbers that stand at a place, between a mark and the sum.
+func TakeThree(t *crc.Table, mark string, b []byte, at int) ([3]uint32, api.Errno) {
+	r, e := Open(mark, b, at)
+	if e != api.OK {
+		return [3]uint32{}, e
+	}
+	var n [3]uint32
+	for i := range n {
+		n[i] = r.Number(wide)
+	}
+	if e := Check(t, r, b, at); e != api.OK {
+		return [3]uint32{}, e
+	}
+	return n, api.OK
+}

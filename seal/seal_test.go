@@ -100,3 +100,34 @@ func TestCloseAndCheck(t *testing.T) {
 		}
 	}
 }
+
+func TestThree(t *testing.T) {
+	c := crc.Make()
+	n := [3]uint32{1, 0x04030201, 0xffffffff}
+	b := seal.PutThree(&c, "MARK", n)
+	if string(b[:16]) != "MARK\x01\x00\x00\x00\x01\x02\x03\x04\xff\xff\xff\xff" || len(b) != 20 || crc32.ChecksumIEEE(b) != 0x2144df1c {
+		t.Errorf("%x", b)
+	}
+	among := append(append([]byte("xx"), b...), "behind"...)
+	want := func(what string, b []byte, at int, n [3]uint32, e api.Errno) {
+		t.Helper()
+		if got, ge := seal.TakeThree(&c, "MARK", b, at); got != n || ge != e {
+			t.Errorf("%s: %d %d, not %d %d", what, got, ge, n, e)
+		}
+	}
+	none := [3]uint32{}
+	want("alone", b, 0, n, api.OK)
+	want("among others", among, 2, n, api.OK)
+	want("at another place", among, 1, none, api.ErrForm)
+	want("at no place", among, -1, none, api.ErrArg)
+	for k := range b {
+		want("too short", b[:k], 0, none, api.ErrEnd)
+		spoilt := bytes.Clone(b)
+		spoilt[k]++
+		e := api.ErrSum
+		if k < 4 {
+			e = api.ErrForm
+		}
+		want("another byte", spoilt, 0, none, e)
+	}
+}
