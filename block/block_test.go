@@ -21,14 +21,6 @@ type token = api.Token
 
 const window = 32768
 
-func byteTokens(text string) []token {
-	var l []token
-	for _, x := range []byte(text) {
-		l = append(l, token{Byte: x})
-	}
-	return l
-}
-
 // counts is n weights or lengths, of which those at some places aren't 0.
 func counts(n int, at map[int]int) []int {
 	l := make([]int, n)
@@ -147,12 +139,12 @@ func TestWeights(t *testing.T) {
 		first, second map[int]int
 	}{
 		{"none", nil, map[int]int{256: 1}, map[int]int{0: 1}},
-		{"bytes", byteTokens("abaa\x00\xff"), map[int]int{0: 1, 'a': 3, 'b': 1, 255: 1, 256: 1}, map[int]int{0: 1}},
-		{"a match", append(byteTokens("a"), token{Len: 3, Dist: 1}), map[int]int{'a': 1, 256: 1, 257: 1}, map[int]int{0: 1}},
-		{"a match, farther off", append(byteTokens("ab"), token{Len: 4, Dist: 2}), map[int]int{'a': 1, 'b': 1, 256: 1, 258: 1}, map[int]int{1: 1}},
+		{"bytes", sample.Tokens("abaa\x00\xff"), map[int]int{0: 1, 'a': 3, 'b': 1, 255: 1, 256: 1}, map[int]int{0: 1}},
+		{"a match", append(sample.Tokens("a"), token{Len: 3, Dist: 1}), map[int]int{'a': 1, 256: 1, 257: 1}, map[int]int{0: 1}},
+		{"a match, farther off", append(sample.Tokens("ab"), token{Len: 4, Dist: 2}), map[int]int{'a': 1, 'b': 1, 256: 1, 258: 1}, map[int]int{1: 1}},
 		{"the longest and farthest one, twice", []token{{Len: 258, Dist: window}, {Len: 258, Dist: window}}, map[int]int{256: 1, 272: 2}, map[int]int{29: 2}},
 		{"one class of two", []token{{Len: 7, Dist: 5}, {Len: 8, Dist: 6}}, map[int]int{256: 1, 261: 2}, map[int]int{4: 2}},
-		{"as many as there may be", slices.Repeat(byteTokens("a"), 65536), map[int]int{'a': 65536, 256: 1}, map[int]int{0: 1}},
+		{"as many as there may be", slices.Repeat(sample.Tokens("a"), 65536), map[int]int{'a': 65536, 256: 1}, map[int]int{0: 1}},
 	} {
 		first, second, ok := block.Weights(x.l)
 		if !ok || !slices.Equal(first, counts(273, x.first)) || !slices.Equal(second, counts(30, x.second)) {
@@ -165,15 +157,15 @@ func TestWeights(t *testing.T) {
 func refused() map[string][]token {
 	return map[string][]token{
 		"none, alone":         {{Len: 2, Dist: 1}},
-		"none, the first one": append([]token{{Dist: 1}}, byteTokens("ab")...),
-		"none, the last one":  append(byteTokens("ab"), token{Len: 259, Dist: 1}),
-		"a match without":     append(byteTokens("ab"), token{Len: 3}),
-		"a match too far off": append(byteTokens("ab"), token{Len: 3, Dist: window + 1}),
-		"a match with a byte": append(byteTokens("ab"), token{Byte: 1, Len: 3, Dist: 1}),
+		"none, the first one": append([]token{{Dist: 1}}, sample.Tokens("ab")...),
+		"none, the last one":  append(sample.Tokens("ab"), token{Len: 259, Dist: 1}),
+		"a match without":     append(sample.Tokens("ab"), token{Len: 3}),
+		"a match too far off": append(sample.Tokens("ab"), token{Len: 3, Dist: window + 1}),
+		"a match with a byte": append(sample.Tokens("ab"), token{Byte: 1, Len: 3, Dist: 1}),
 		"great numbers":       {{Len: math.MaxInt, Dist: math.MaxInt}},
 		"small numbers":       {{Len: math.MinInt, Dist: math.MinInt}},
-		"65,537":              slices.Repeat(byteTokens("a"), 65537),
-		"100,000, one none":   append(slices.Repeat(byteTokens("a"), 100000), token{Len: 1}),
+		"65,537":              slices.Repeat(sample.Tokens("a"), 65537),
+		"100,000, one none":   append(slices.Repeat(sample.Tokens("a"), 100000), token{Len: 1}),
 	}
 }
 
@@ -194,7 +186,7 @@ func TestRefused(t *testing.T) {
 			t.Errorf("%s: Put into nothing: %d", what, e)
 		}
 	}
-	for _, l := range [][]token{nil, byteTokens("a")} {
+	for _, l := range [][]token{nil, sample.Tokens("a")} {
 		if e := block.Put(nil, l); e != api.ErrArg {
 			t.Errorf("Put into nothing: %d", e)
 		}
@@ -202,7 +194,7 @@ func TestRefused(t *testing.T) {
 }
 
 func TestNothingIsKept(t *testing.T) {
-	l := append(byteTokens("ab"), token{Len: 3, Dist: 2})
+	l := append(sample.Tokens("ab"), token{Len: 3, Dist: 2})
 	kept := slices.Clone(l)
 	first, second, _ := block.Weights(l)
 	first[97], second[1] = 99, 99
@@ -234,7 +226,7 @@ func TestPutOfNoneByHand(t *testing.T) {
 
 // The symbols are a, 256 and 259, with the codes 10, 11 and 0, and of the second alphabet 6, with the code 0, and behind it two bits of 9.
 func TestPutByHand(t *testing.T) {
-	l := append(byteTokens("a"), token{Len: 5, Dist: 10}, token{Len: 5, Dist: 10})
+	l := append(sample.Tokens("a"), token{Len: 5, Dist: 10}, token{Len: 5, Dist: 10})
 	first := table(t, counts(273, map[int]int{'a': 2, 256: 2, 259: 1}))
 	second := table(t, counts(30, map[int]int{6: 1}))
 	want := first + second + "10" + "0" + "010" + "0" + "010" + "11"
@@ -271,7 +263,7 @@ func TestTakeNil(t *testing.T) {
 }
 
 func TestTakeGoesOn(t *testing.T) {
-	l := append(byteTokens("abcd"), token{Len: 7, Dist: 4}, token{Len: 258, Dist: 11}, token{Byte: 9})
+	l := append(sample.Tokens("abcd"), token{Len: 7, Dist: 4}, token{Len: 258, Dist: 11}, token{Byte: 9})
 	r := sample.Bits(slow(t, l) + "0110")
 	if got, e := block.Take(r, 1000); !slices.Equal(got, l) || e != api.OK || sample.Text(r) != "0110" {
 		t.Errorf("%v %d, %s left", got, e, sample.Text(r))
@@ -279,7 +271,7 @@ func TestTakeGoesOn(t *testing.T) {
 }
 
 func TestTakeTooShort(t *testing.T) {
-	l := append(byteTokens("abcde"), token{Len: 40, Dist: 5}, token{Len: 3, Dist: 40}, token{Byte: 'x'})
+	l := append(sample.Tokens("abcde"), token{Len: 40, Dist: 5}, token{Len: 3, Dist: 40}, token{Byte: 'x'})
 	s := slow(t, l)
 	for n := range len(s) {
 		wantTake(t, "too short", s[:n], 1000, nil, api.ErrEnd)
@@ -362,7 +354,7 @@ func TestTakeCodes(t *testing.T) {
 
 	// a: 10, 256: 11, 257: 0; of the second alphabet 3: 0
 	s := table(t, counts(273, map[int]int{'a': 2, 256: 2, 257: 1})) + table(t, second)
-	four := byteTokens("aaaa")
+	four := sample.Tokens("aaaa")
 	wantTake(t, "fine", s+"10101010"+"00"+"11", 100, append(slices.Clone(four), token{Len: 3, Dist: 4}), api.OK)
 	wantTake(t, "no code of the second alphabet", s+"10101010"+"01"+"11", 100, nil, api.ErrCodes)
 	wantTake(t, "no bits of the second alphabet", s+"10101010"+"0", 100, nil, api.ErrEnd)
@@ -381,7 +373,7 @@ func TestTakeBitsBehind(t *testing.T) {
 	s := table(t, counts(273, map[int]int{'a': 2, 256: 2, 272: 1})) + table(t, counts(30, map[int]int{4: 1, 5: 1}))
 	s += strings.Repeat("10", 8)
 	match := "0" + sample.Number(63, 6) + "1" + "1"
-	eight := byteTokens("aaaaaaaa")
+	eight := sample.Tokens("aaaaaaaa")
 	wantTake(t, "fine", s+match+"11", 1000, append(slices.Clone(eight), token{Len: 258, Dist: 8}), api.OK)
 	for n := range len(match) {
 		wantTake(t, "bits that aren't all there", s+match[:n], 1000, nil, api.ErrEnd)
@@ -473,7 +465,7 @@ func TestWhole(t *testing.T) {
 			t.Errorf("level %d: %d tokens, %d", level, len(got), e)
 		}
 	}
-	all := slices.Repeat(byteTokens("ab"), 32768)
+	all := slices.Repeat(sample.Tokens("ab"), 32768)
 	var w bits.Writer
 	if e := block.Put(&w, all); e != api.OK {
 		t.Fatal(e)

@@ -201,41 +201,11 @@ func TestTake(t *testing.T) {
 	for _, h := range right() {
 		b := raw(byte(h.Method), byte(len(h.Name)), uint32(h.Size), uint32(h.Area), h.Sum, h.Name)
 		wantTake(t, "alone", b, 0, h, len(b), api.OK)
-		among := append(append([]byte("ahead"), b...), "behind"...)
-		wantTake(t, "among others", among, 5, h, 5+len(b), api.OK)
-		for n := range b {
-			wantRefused(t, "too short", b[:n], 0, api.ErrEnd)
-			wantRefused(t, "too short", among[:5+n], 5, api.ErrEnd)
+		wantTake(t, "among others", append(append([]byte("ahead"), b...), "behind"...), 5, h, 5+len(b), api.OK)
+		for _, x := range sample.Refusals(b) {
+			wantRefused(t, x.What, x.B, x.At, x.E)
 		}
 	}
-}
-
-func TestTakeArg(t *testing.T) {
-	b := raw(0, 1, 3, 3, 9, "a")
-	for _, at := range []int{-1, -4, len(b) + 1, len(b) + 2, 1 << 40, math.MinInt, math.MaxInt, math.MaxInt - 3} {
-		wantRefused(t, "no place", b, at, api.ErrArg)
-		wantRefused(t, "no place", nil, at, api.ErrArg)
-	}
-	wantRefused(t, "at the end", b, len(b), api.ErrEnd)
-	wantRefused(t, "of nothing", nil, 0, api.ErrEnd)
-	wantRefused(t, "behind nothing", nil, 1, api.ErrArg)
-}
-
-// What stands ahead of all else is asked first.
-func TestTakeForm(t *testing.T) {
-	b := raw(0, 1, 3, 3, 9, "a")
-	for _, text := range []string{"LMBr", "TOMB", "lmbr", "\x00\x00\x00\x00", "LMB "} {
-		wantRefused(t, "four others", []byte(text), 0, api.ErrForm)
-		wantRefused(t, "four others, and more", append([]byte(text), b[4:]...), 0, api.ErrForm)
-	}
-	for at := 1; at < len(b); at++ {
-		want := api.ErrForm
-		if len(b)-at < 4 {
-			want = api.ErrEnd
-		}
-		wantRefused(t, "inside", b, at, want)
-	}
-	wantRefused(t, "three others", []byte("xyz"), 0, api.ErrEnd)
 }
 
 func TestTakeSum(t *testing.T) {

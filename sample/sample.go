@@ -1,10 +1,13 @@
-// Package sample is what the tests of several layers need: numbers and bytes without a plain pattern, the same ones in each run, bits as text, and what is changed within 32 bits.
+// Package sample is what the tests of several layers need: numbers and bytes without a plain pattern, the same ones in each run, bits as text, tokens of a text, what is changed within 32 bits, and what is refused.
 package sample
 
 import (
 	"iter"
+	"math"
+	"slices"
 	"strings"
 
+	"bindle/api"
 	"bindle/bits"
 	"bindle/crc"
 )
@@ -83,4 +86,46 @@ func Number(n, width int) string {
 		s.WriteByte('0' + byte(n>>k&1))
 	}
 	return s.String()
+}
+
+// Tokens is each byte of a text as a token.
+func Tokens(text string) []api.Token {
+	var l []api.Token
+	for _, x := range []byte(text) {
+		l = append(l, api.Token{Byte: x})
+	}
+	return l
+}
+
+// Refusal is bytes, a place of them, and with which error what should stand there is refused.
+type Refusal struct {
+	What string
+	B    []byte
+	At   int
+	E    api.Errno
+}
+
+// Refusals is how b, which begins with a mark of four bytes and has no such bytes in it again, is refused: where there is no place, where the mark is another one, and where b isn't all there.
+func Refusals(b []byte) []Refusal {
+	var l []Refusal
+	for _, at := range []int{-1, -4, len(b) + 1, len(b) + 2, 1 << 40, math.MinInt, math.MaxInt, math.MaxInt - 3} {
+		l = append(l, Refusal{"no place", b, at, api.ErrArg}, Refusal{"no place of nothing", nil, at, api.ErrArg})
+	}
+	for i := range 4 {
+		other := slices.Clone(b)
+		other[i] ^= 32
+		l = append(l, Refusal{"another mark", other, 0, api.ErrForm}, Refusal{"another mark alone", other[:4], 0, api.ErrForm})
+	}
+	among := slices.Concat([]byte("ahead"), b, []byte("behind"))
+	for n := range b {
+		l = append(l, Refusal{"too short", b[:n], 0, api.ErrEnd}, Refusal{"too short, behind others", among[:5+n], 5, api.ErrEnd})
+	}
+	for at := 1; at <= len(b); at++ {
+		e := api.ErrForm
+		if len(b)-at < 4 {
+			e = api.ErrEnd
+		}
+		l = append(l, Refusal{"inside", b, at, e})
+	}
+	return append(l, Refusal{"three others", []byte("xyz"), 0, api.ErrEnd})
 }

@@ -1,8 +1,10 @@
 package sample_test
 
 import (
+	"slices"
 	"testing"
 
+	"bindle/api"
 	"bindle/bits"
 	"bindle/sample"
 )
@@ -59,5 +61,27 @@ func TestBursts(t *testing.T) {
 		if at == 3 {
 			break
 		}
+	}
+}
+
+func TestTokens(t *testing.T) {
+	if l := sample.Tokens("a\xff"); !slices.Equal(l, []api.Token{{Byte: 'a'}, {Byte: 255}}) || len(sample.Tokens("")) != 0 {
+		t.Errorf("%v", l)
+	}
+}
+
+func TestRefusals(t *testing.T) {
+	b := []byte("MARKabc")
+	often := map[api.Errno]int{}
+	for _, x := range sample.Refusals(b) {
+		often[x.E]++
+		if there := x.At >= 0 && x.At <= len(x.B); there != (x.E != api.ErrArg) {
+			t.Errorf("%s: %q at %d: %d", x.What, x.B, x.At, x.E)
+		} else if there && (len(x.B)-x.At >= 4 && string(x.B[x.At:x.At+4]) != "MARK") != (x.E == api.ErrForm) {
+			t.Errorf("%s: %q at %d: %d", x.What, x.B, x.At, x.E)
+		}
+	}
+	if often[api.ErrArg] != 16 || often[api.ErrForm] != 8+3 || often[api.ErrEnd] != 2*7+4+1 || len(often) != 3 || string(b) != "MARKabc" {
+		t.Errorf("%v, %q", often, b)
 	}
 }

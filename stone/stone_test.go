@@ -112,39 +112,14 @@ func TestTake(t *testing.T) {
 	for _, name := range names() {
 		b := raw(byte(len(name)), name)
 		wantTake(t, "alone", b, 0, name, len(b), api.OK)
-		among := append(append([]byte("ahead"), b...), "behind"...)
-		wantTake(t, "among others", among, 5, name, 5+len(b), api.OK)
-		for n := range b {
-			wantRefused(t, "too short", b[:n], 0, api.ErrEnd)
-			wantRefused(t, "too short", among[:5+n], 5, api.ErrEnd)
+		wantTake(t, "among others", append(append([]byte("ahead"), b...), "behind"...), 5, name, 5+len(b), api.OK)
+		if name == "TOMB" {
+			continue
+		}
+		for _, x := range sample.Refusals(b) {
+			wantRefused(t, x.What, x.B, x.At, x.E)
 		}
 	}
-}
-
-func TestTakeArg(t *testing.T) {
-	b := raw(1, "a")
-	for _, at := range []int{-1, -4, len(b) + 1, len(b) + 2, 1 << 40, math.MinInt, math.MaxInt, math.MaxInt - 3} {
-		wantRefused(t, "no place", b, at, api.ErrArg)
-		wantRefused(t, "no place", nil, at, api.ErrArg)
-	}
-	wantRefused(t, "at the end", b, len(b), api.ErrEnd)
-	wantRefused(t, "of nothing", nil, 0, api.ErrEnd)
-}
-
-func TestTakeForm(t *testing.T) {
-	b := raw(3, "a/b")
-	for _, text := range []string{"TOMb", "LMBR", "tomb", "\x00\x00\x00\x00", "TOM "} {
-		wantRefused(t, "four others", []byte(text), 0, api.ErrForm)
-		wantRefused(t, "four others, and more", append([]byte(text), b[4:]...), 0, api.ErrForm)
-	}
-	for at := 1; at < len(b); at++ {
-		want := api.ErrForm
-		if len(b)-at < 4 {
-			want = api.ErrEnd
-		}
-		wantRefused(t, "inside", b, at, want)
-	}
-	wantRefused(t, "three others", []byte("xyz"), 0, api.ErrEnd)
 }
 
 func TestTakeSum(t *testing.T) {

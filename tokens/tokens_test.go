@@ -17,15 +17,6 @@ type token = api.Token
 
 const window = 32768
 
-// byteTokens is each byte as a token.
-func byteTokens(text string) []token {
-	var l []token
-	for _, x := range []byte(text) {
-		l = append(l, token{Byte: x})
-	}
-	return l
-}
-
 func wantSplit(t *testing.T, text string, level int, want ...token) {
 	t.Helper()
 	if got := tokens.Split([]byte(text), level); !slices.Equal(got, want) {
@@ -88,12 +79,12 @@ func TestDepth(t *testing.T) {
 func TestSplitOfFew(t *testing.T) {
 	for level := range 4 {
 		wantSplit(t, "", level)
-		wantSplit(t, "a", level, byteTokens("a")...)
-		wantSplit(t, "abcd", level, byteTokens("abcd")...)
-		wantSplit(t, "aaa", level, byteTokens("aaa")...)
-		wantSplit(t, "abcabc", level, append(byteTokens("abc"), token{Len: 3, Dist: 3})...)
-		wantSplit(t, "abcabcab", level, append(byteTokens("abc"), token{Len: 5, Dist: 3})...)
-		wantSplit(t, "abcdabcab", level, append(append(byteTokens("abcd"), token{Len: 3, Dist: 4}), byteTokens("ab")...)...)
+		wantSplit(t, "a", level, sample.Tokens("a")...)
+		wantSplit(t, "abcd", level, sample.Tokens("abcd")...)
+		wantSplit(t, "aaa", level, sample.Tokens("aaa")...)
+		wantSplit(t, "abcabc", level, append(sample.Tokens("abc"), token{Len: 3, Dist: 3})...)
+		wantSplit(t, "abcabcab", level, append(sample.Tokens("abc"), token{Len: 5, Dist: 3})...)
+		wantSplit(t, "abcdabcab", level, append(append(sample.Tokens("abcd"), token{Len: 3, Dist: 4}), sample.Tokens("ab")...)...)
 	}
 	if l := tokens.Split(nil, 1); len(l) != 0 {
 		t.Errorf("of none: %v", l)
@@ -103,8 +94,8 @@ func TestSplitOfFew(t *testing.T) {
 // A longer match at the next place counts from level 2 on.
 func TestSplitLazy(t *testing.T) {
 	text := "abc.bcde.abcde"
-	early := append(byteTokens("abc.bcde."), token{Len: 3, Dist: 9}, token{Byte: 'd'}, token{Byte: 'e'})
-	late := append(byteTokens("abc.bcde.a"), token{Len: 4, Dist: 6})
+	early := append(sample.Tokens("abc.bcde."), token{Len: 3, Dist: 9}, token{Byte: 'd'}, token{Byte: 'e'})
+	late := append(sample.Tokens("abc.bcde.a"), token{Len: 4, Dist: 6})
 	wantSplit(t, text, math.MinInt, early...)
 	wantSplit(t, text, 0, early...)
 	wantSplit(t, text, 1, early...)
@@ -116,7 +107,7 @@ func TestSplitLazy(t *testing.T) {
 // One that is just as long at the next place doesn't count.
 func TestSplitLazyAsLong(t *testing.T) {
 	text := "abc.bcd.abcd"
-	want := append(byteTokens("abc.bcd."), token{Len: 3, Dist: 8}, token{Byte: 'd'})
+	want := append(sample.Tokens("abc.bcd."), token{Len: 3, Dist: 8}, token{Byte: 'd'})
 	for level := range 4 {
 		wantSplit(t, text, level, want...)
 	}
@@ -125,8 +116,8 @@ func TestSplitLazyAsLong(t *testing.T) {
 // What is longer is asked for again: place by place it may grow.
 func TestSplitLazyAgain(t *testing.T) {
 	text := "abc.bcde.cdefg.abcdefg"
-	head := append(byteTokens("abc.bcde."), token{Len: 3, Dist: 4})
-	head = append(head, byteTokens("fg.")...)
+	head := append(sample.Tokens("abc.bcde."), token{Len: 3, Dist: 4})
+	head = append(head, sample.Tokens("fg.")...)
 	wantSplit(t, text, 1, append(slices.Clone(head), token{Len: 3, Dist: 15}, token{Len: 4, Dist: 8})...)
 	wantSplit(t, text, 2, append(slices.Clone(head), token{Byte: 'a'}, token{Byte: 'b'}, token{Len: 5, Dist: 8})...)
 }
@@ -134,7 +125,7 @@ func TestSplitLazyAgain(t *testing.T) {
 // The last abcde has candidates of 3 bytes that are nearer than the one of 5.
 func TestSplitDepth(t *testing.T) {
 	text := "abcde.abc1abc2abc3"
-	head := append(byteTokens("abcde."), token{Len: 3, Dist: 6}, token{Byte: '1'}, token{Len: 3, Dist: 4}, token{Byte: '2'}, token{Len: 3, Dist: 4}, token{Byte: '3'})
+	head := append(sample.Tokens("abcde."), token{Len: 3, Dist: 6}, token{Byte: '1'}, token{Len: 3, Dist: 4}, token{Byte: '2'}, token{Len: 3, Dist: 4}, token{Byte: '3'})
 	short := append(slices.Clone(head), token{Len: 3, Dist: 4}, token{Byte: 'd'}, token{Byte: 'e'})
 	fourth := append(slices.Clone(head), token{Len: 5, Dist: 18})
 	wantSplit(t, text+"abcde", 0, short...)
@@ -160,7 +151,7 @@ func TestSplitOfLongest(t *testing.T) {
 // Each ends where it is told to, begins anew each time, and tells what b was when it was called.
 func TestEach(t *testing.T) {
 	b := []byte("abcabcd")
-	want := append(byteTokens("abc"), token{Len: 3, Dist: 3}, token{Byte: 'd'})
+	want := append(sample.Tokens("abc"), token{Len: 3, Dist: 3}, token{Byte: 'd'})
 	all := tokens.Each(b, 2)
 	copy(b, "xyz")
 	for n := 1; n <= len(want); n++ {
@@ -209,7 +200,7 @@ func TestExpand(t *testing.T) {
 		want string
 	}{
 		{nil, ""},
-		{byteTokens("abc\x00"), "abc\x00"},
+		{sample.Tokens("abc\x00"), "abc\x00"},
 		{[]token{{Byte: 'a'}, {Len: 3, Dist: 1}}, "aaaa"},
 		{[]token{{Byte: 'a'}, {Byte: 'b'}, {Len: 5, Dist: 2}, {Byte: 'c'}}, "abababac"},
 		{[]token{{Byte: 'a'}, {Byte: 'b'}, {Byte: 'c'}, {Len: 3, Dist: 3}, {Len: 3, Dist: 5}}, "abcabcbca"},
@@ -283,7 +274,7 @@ func TestSize(t *testing.T) {
 		ok   bool
 	}{
 		{"none", nil, 0, true},
-		{"bytes", byteTokens("abc"), 3, true},
+		{"bytes", sample.Tokens("abc"), 3, true},
 		{"a match", []token{a, {Len: 7, Dist: 1}, a}, 9, true},
 		{"a match without bytes ahead", []token{{Len: 3, Dist: window}}, 3, true},
 		{"as many as there may be", full, 1048576, true},
