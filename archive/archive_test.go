@@ -19,6 +19,7 @@ import (
 	"bindle/sample"
 	"bindle/scan"
 	"bindle/slot"
+	"bindle/space"
 	"bindle/stone"
 )
 
@@ -26,10 +27,6 @@ const (
 	most    = 1 << 21
 	maxData = 65536
 )
-
-func file(name, data string) api.File {
-	return api.File{Name: name, Data: []byte(data)}
-}
 
 // created is a file system with an archive, and that one, open.
 func created(t *testing.T) (*crashfs.FS, *archive.Archive) {
@@ -86,17 +83,6 @@ func told(a *archive.Archive, folder string) []string {
 	return names
 }
 
-// content is all bytes that the archive's file has.
-func content(t *testing.T, f *crashfs.FS) []byte {
-	t.Helper()
-	id, e := f.Open("a")
-	if e != api.OK {
-		t.Fatal("no file")
-	}
-	b, _ := f.Read(id, 0, 512*f.Size(id))
-	return b
-}
-
 // state is all that a later call could tell of an archive.
 func state(t *testing.T, f *crashfs.FS, a *archive.Archive) string {
 	t.Helper()
@@ -116,7 +102,7 @@ func TestCreate(t *testing.T) {
 	want(t, "again", archive.Create(f, "a"), api.ErrExists)
 	c := crc.Make()
 	image, _ := commit.Image(&c, nil, nil)
-	if !bytes.Equal(content(t, f)[:len(image)], image) {
+	if !bytes.Equal(sample.Content(f, "a")[:len(image)], image) {
 		t.Error("another image")
 	}
 	small := crashfs.New(2)
@@ -162,7 +148,7 @@ func TestClose(t *testing.T) {
 	want(t, "Close", a.Close(), api.OK)
 	wantClosed(t, a)
 	f.Crash(api.Crash{})
-	wantAll(t, opened(t, f), file("x", "data"))
+	wantAll(t, opened(t, f), sample.File("x", "data"))
 	a = opened(t, f)
 	before, _ := f.Calls()
 	want(t, "of what wasn't changed", a.Close(), api.OK)
@@ -240,10 +226,10 @@ func TestPut(t *testing.T) {
 	if m, _ = a.Stat("a"); m.At != end || a.End() != end+28 {
 		t.Errorf("anew: %v", m)
 	}
-	wantAll(t, a, file("a", "other"), file("t", text))
+	wantAll(t, a, sample.File("a", "other"), sample.File("t", text))
 	want(t, "of no data", a.Put("a/b", nil, 0), api.OK)
 	want(t, "of all there may be", a.Put("z", make([]byte, maxData), -1), api.OK)
-	all := []api.File{file("a", "other"), file("a/b", ""), file("t", text), file("z", string(make([]byte, maxData)))}
+	all := []api.File{sample.File("a", "other"), sample.File("a/b", ""), sample.File("t", text), sample.File("z", string(make([]byte, maxData)))}
 	wantAll(t, a, all...)
 	want(t, "Sync", a.Sync(), api.OK)
 	f.Crash(api.Crash{})
@@ -264,7 +250,7 @@ func TestPutIsNotKept(t *testing.T) {
 	files, _ := a.Files()
 	clear(files[0].Data)
 	clear(a.Names(""))
-	wantAll(t, a, file("a", "data"), file("b", "datamore"))
+	wantAll(t, a, sample.File("a", "data"), sample.File("b", "datamore"))
 }
 
 func TestPutRefused(t *testing.T) {
@@ -303,7 +289,7 @@ func TestAFullIndex(t *testing.T) {
 	f, a := created(t)
 	var all []api.File
 	for i := range 200 {
-		all = append(all, file(fmt.Sprintf("n%03d", i), ""))
+		all = append(all, sample.File(fmt.Sprintf("n%03d", i), ""))
 		want(t, "Put", a.Put(all[i].Name, nil, 0), api.OK)
 	}
 	ahead := state(t, f, a)
@@ -316,11 +302,11 @@ func TestAFullIndex(t *testing.T) {
 	want(t, "anew", a.Put("n007", []byte("x"), 0), api.OK)
 	want(t, "anew, as a stream", a.Begin("n008"), api.OK)
 	want(t, "anew, as a stream", a.Finish(), api.OK)
-	all[7] = file("n007", "x")
+	all[7] = sample.File("n007", "x")
 	wantAll(t, a, all...)
 	want(t, "Delete", a.Delete("n000"), api.OK)
 	want(t, "in the room of what is gone", a.Put("o", nil, 0), api.OK)
-	wantAll(t, a, append(all[1:], file("o", ""))...)
+	wantAll(t, a, append(all[1:], sample.File("o", ""))...)
 	want(t, "Sync", a.Sync(), api.OK)
 }
 
@@ -335,13 +321,13 @@ func TestDelete(t *testing.T) {
 	}
 	c := crc.Make()
 	tomb, _ := stone.Put(&c, "x")
-	if !bytes.Equal(content(t, f)[end:end+10], tomb) {
+	if !bytes.Equal(sample.Content(f, "a")[end:end+10], tomb) {
 		t.Error("another tombstone")
 	}
 	want(t, "again", a.Delete("x"), api.ErrNotFound)
-	wantAll(t, a, file("y", "22"))
+	wantAll(t, a, sample.File("y", "22"))
 	want(t, "Close", a.Close(), api.OK)
-	wantAll(t, opened(t, f), file("y", "22"))
+	wantAll(t, opened(t, f), sample.File("y", "22"))
 }
 
 // filled is an archive in whose file so many bytes are left behind its end and its directory.
@@ -372,7 +358,7 @@ func TestRoomForAPut(t *testing.T) {
 	}
 	want(t, "just as many", a.Put("x", make([]byte, 58), -1), api.OK)
 	want(t, "Sync", a.Sync(), api.OK)
-	if len(content(t, f)) != most || !slices.Contains(opened(t, f).Names(""), "x") {
+	if len(sample.Content(f, "a")) != most || !slices.Contains(opened(t, f).Names(""), "x") {
 		t.Error("the file isn't full")
 	}
 	_, a = filled(t, 100)
@@ -401,7 +387,7 @@ func TestRoomForAStream(t *testing.T) {
 	want(t, "none more", a.Write(nil), api.OK)
 	want(t, "Finish", a.Finish(), api.OK)
 	want(t, "Sync", a.Sync(), api.OK)
-	if m, _ := a.Stat("x"); m.Size != 8 || len(content(t, f)) != most {
+	if m, _ := a.Stat("x"); m.Size != 8 || len(sample.Content(f, "a")) != most {
 		t.Errorf("%v", m)
 	}
 	_, a = filled(t, 64)
@@ -465,20 +451,20 @@ func TestStream(t *testing.T) {
 	want(t, "Finish", a.Finish(), api.OK)
 	c := crc.Make()
 	b, _ := record.Stream(&c, "s/t", [][]byte{[]byte("ab"), []byte("c")})
-	if a.End() != end+len(b) || !bytes.Equal(content(t, f)[end:a.End()], b) {
+	if a.End() != end+len(b) || !bytes.Equal(sample.Content(f, "a")[end:a.End()], b) {
 		t.Error("other bytes")
 	}
-	r, _ := record.Take(&c, content(t, f), end)
+	r, _ := record.Take(&c, sample.Content(f, "a"), end)
 	if m, _ := a.Stat("s/t"); m != r.Member || m.Size != 3 || m.Method != api.Streamed {
 		t.Errorf("%v", m)
 	}
-	wantAll(t, a, file("s/t", "abc"), file("x", "ahead"))
+	wantAll(t, a, sample.File("s/t", "abc"), sample.File("x", "ahead"))
 	want(t, "Close", a.Close(), api.OK)
 	a = opened(t, f)
-	wantAll(t, a, file("s/t", "abc"), file("x", "ahead"))
+	wantAll(t, a, sample.File("s/t", "abc"), sample.File("x", "ahead"))
 	want(t, "Begin", a.Begin("e"), api.OK)
 	want(t, "Finish", a.Finish(), api.OK)
-	wantAll(t, a, file("e", ""), file("s/t", "abc"), file("x", "ahead"))
+	wantAll(t, a, sample.File("e", ""), sample.File("s/t", "abc"), sample.File("x", "ahead"))
 }
 
 func TestWithoutAStream(t *testing.T) {
@@ -506,7 +492,7 @@ func TestWithoutAStream(t *testing.T) {
 	a.Begin("x")
 	want(t, "Finish", a.Finish(), api.OK)
 	want(t, "Abort", a.Abort(), api.ErrNoStream)
-	wantAll(t, a, file("x", ""), file("y", "data"))
+	wantAll(t, a, sample.File("x", ""), sample.File("y", "data"))
 }
 
 func TestAStreamsSize(t *testing.T) {
@@ -524,7 +510,7 @@ func TestAStreamsSize(t *testing.T) {
 	want(t, "one more", a.Write([]byte{1}), api.ErrSize)
 	want(t, "nothing", a.Write(nil), api.OK)
 	want(t, "Finish", a.Finish(), api.OK)
-	wantAll(t, a, file("x", string(make([]byte, maxData))))
+	wantAll(t, a, sample.File("x", string(make([]byte, maxData))))
 	a.Begin("y")
 	want(t, "all at once", a.Write(make([]byte, maxData)), api.OK)
 	want(t, "Finish", a.Finish(), api.OK)
@@ -558,14 +544,14 @@ func TestAStreamIsRefusedCallByCall(t *testing.T) {
 	}
 	want(t, "Write", a.Write([]byte("three")), api.OK)
 	want(t, "Finish", a.Finish(), api.OK)
-	wantAll(t, a, file("s", "onetwothree"), file("x", "ahead"))
+	wantAll(t, a, sample.File("s", "onetwothree"), sample.File("x", "ahead"))
 	refuse()
 	want(t, "Put", a.Put("y", nil, 0), api.ErrIO)
 	refuse()
 	want(t, "Delete", a.Delete("x"), api.ErrIO)
-	wantAll(t, a, file("s", "onetwothree"), file("x", "ahead"))
+	wantAll(t, a, sample.File("s", "onetwothree"), sample.File("x", "ahead"))
 	c := crc.Make()
-	if l, _, e := scan.Live(&c, content(t, f), a.End()); e != api.OK || !slices.Equal(l, slices.Collect(a.List(""))) {
+	if l, _, e := scan.Live(&c, sample.Content(f, "a"), a.End()); e != api.OK || !slices.Equal(l, slices.Collect(a.List(""))) {
 		t.Errorf("a scan: %v %d", l, e)
 	}
 }
@@ -599,7 +585,7 @@ func TestGet(t *testing.T) {
 	want(t, "spoilt: Sync", a.Sync(), api.OK)
 	want(t, "spoilt: Delete", a.Delete("x"), api.OK)
 	want(t, "Vacuum", a.Vacuum(0), api.OK)
-	wantAll(t, a, file("y", strings.Repeat("text", 99)))
+	wantAll(t, a, sample.File("y", strings.Repeat("text", 99)))
 }
 
 // What has its sum, but is no payload, is refused as the codec does.
@@ -664,8 +650,8 @@ func TestSync(t *testing.T) {
 	a.Put("y", []byte("2"), 0)
 	a.Delete("x")
 	f.Crash(api.Crash{Keep: slices.Repeat([]bool{true}, 100), Names: 9})
-	wantAll(t, opened(t, f), file("x", "1"))
-	b := content(t, f)
+	wantAll(t, opened(t, f), sample.File("x", "1"))
+	b := sample.Content(f, "a")
 	c := crc.Make()
 	dir, _ := foot.Write(&c, []api.Member{{Name: "x", At: 1024, From: 1047, Area: 1, Size: 1, Sum: c.Sum([]byte("1"))}})
 	if bytes.Contains(b, dir) {
@@ -691,7 +677,7 @@ func TestPoisoned(t *testing.T) {
 	if state(t, f, a) != ahead {
 		t.Error("a poisoned one is changed")
 	}
-	wantAll(t, a, file("x", "1"))
+	wantAll(t, a, sample.File("x", "1"))
 	want(t, "Close", a.Close(), api.ErrPoisoned)
 	if a.Poisoned() {
 		t.Error("poisoned, and not open")
@@ -701,7 +687,7 @@ func TestPoisoned(t *testing.T) {
 func TestVacuum(t *testing.T) {
 	f, a := created(t)
 	text := strings.Repeat("text ", 300)
-	all := []api.File{file("a", text), file("b/c", ""), file("d", "old")}
+	all := []api.File{sample.File("a", text), sample.File("b/c", ""), sample.File("d", "old")}
 	for _, l := range all {
 		a.Put(l.Name, []byte("first"), 0)
 		a.Put(l.Name, l.Data, -1)
@@ -717,7 +703,7 @@ func TestVacuum(t *testing.T) {
 			b, _ := record.Put(&c, l.Name, l.Data, level)
 			records = append(records, b...)
 		}
-		b := content(t, f)
+		b := sample.Content(f, "a")
 		if a.End() != 1024+len(records) || !bytes.Equal(b[1024:a.End()], records) {
 			t.Errorf("level %d: other records, End %d", level, a.End())
 		}
@@ -729,7 +715,7 @@ func TestVacuum(t *testing.T) {
 	want(t, "Put", a.Put("d", []byte("new"), 0), api.OK)
 	want(t, "Close", a.Close(), api.OK)
 	a = opened(t, f)
-	wantAll(t, a, all[0], all[1], file("d", "new"))
+	wantAll(t, a, all[0], all[1], sample.File("d", "new"))
 	for _, name := range a.Names("") {
 		a.Delete(name)
 	}
@@ -757,14 +743,14 @@ func TestVacuumRefused(t *testing.T) {
 		if a.Poisoned() != (n == 5) || a.End() != end || !slices.Equal(slices.Collect(a.List("")), list) {
 			t.Errorf("call %d refused: poisoned %t, End %d", n, a.Poisoned(), a.End())
 		}
-		wantAll(t, a, file("x", "22"))
+		wantAll(t, a, sample.File("x", "22"))
 	}
 	f := crashfs.New(10)
 	archive.Create(f, "a")
 	a := opened(t, f)
 	want(t, "Put", a.Put("x", make([]byte, 1500), -1), api.OK)
 	want(t, "without room", a.Vacuum(-1), api.ErrNoSpace)
-	wantAll(t, a, file("x", string(make([]byte, 1500))))
+	wantAll(t, a, sample.File("x", string(make([]byte, 1500))))
 	want(t, "packed", a.Vacuum(1), api.OK)
 }
 
@@ -881,4 +867,163 @@ func TestPlays(t *testing.T) {
 			}
 		}
 	}
+}
+
+func step(kind int, name, data string) api.Op {
+	return api.Op{Kind: kind, Name: name, Data: []byte(data)}
+}
+
+// script is steps that change an archive in all ways, and make it safe again and again.
+func script() []api.Op {
+	long := strings.Repeat("0123456789", 70)
+	return []api.Op{
+		step(model.Create, "", ""), step(model.Open, "", ""),
+		step(model.Put, "a", "first"), step(model.Sync, "", ""),
+		step(model.Put, "b", long), step(model.Begin, "c", ""), step(model.Write, "", "one"), step(model.Write, "", long), step(model.Finish, "", ""),
+		step(model.Sync, "", ""), step(model.Delete, "a", ""), step(model.Put, "b", "new"),
+		step(model.Vacuum, "", ""), step(model.Put, "a", long), step(model.Close, "", ""),
+		step(model.Open, "", ""), step(model.Delete, "c", ""), step(model.Sync, "", ""),
+	}
+}
+
+// Whenever the power goes, and whatever is kept of what waits, the next Open finds what may be, and changes no byte.
+func TestThePowerGoesAnywhere(t *testing.T) {
+	for n := 1; ; n++ {
+		run := func() *play {
+			p := &play{f: crashfs.New(400), a: &archive.Archive{}, m: model.New(), dice: sample.Dice(uint32(n))}
+			for _, o := range script() {
+				// From one call on all are refused, as if there were no power any more.
+				if all, _ := p.f.Calls(); all < n {
+					var calls []int
+					for k := range 60 {
+						calls = append(calls, n+k)
+					}
+					p.f.Refuse(calls)
+				}
+				if p.a == nil {
+					p.a = &archive.Archive{}
+				}
+				if x := p.do(o); !p.m.Step(o, x) {
+					t.Fatalf("power till call %d: kind %d: error %d", n, o.Kind, x.E)
+				}
+			}
+			return p
+		}
+		p := run()
+		all, refused := p.f.Calls()
+		waiting := p.f.Waiting()
+		for pattern := range 64 {
+			p := p
+			if pattern > 0 {
+				p = run()
+			}
+			keep := make([]bool, waiting)
+			for i := range keep {
+				keep[i] = pattern>>(i%4)&1 > 0
+			}
+			p.f.Crash(api.Crash{Keep: keep, Names: pattern >> 4, Fill: byte(n)})
+			must(t, p.m, step(model.Crash, "", ""), model.Answer{})
+			var ahead []byte
+			if len(p.f.Names()) > 0 && slices.Contains(p.f.Names(), "a") {
+				ahead = sample.Content(p.f, "a")
+			}
+			a, e := archive.Open(p.f, "a")
+			x := model.Answer{E: e}
+			if e == api.OK {
+				if !bytes.Equal(sample.Content(p.f, "a"), ahead) {
+					t.Fatal("Open changes bytes")
+				}
+				x.Files, x.E = a.Files()
+			}
+			must(t, p.m, step(model.Open, "", ""), x)
+		}
+		if refused == 0 && all < n {
+			break
+		}
+	}
+}
+
+func must(t *testing.T, m *model.Model, o api.Op, x model.Answer) {
+	t.Helper()
+	if !m.Step(o, x) {
+		t.Fatalf("kind %d: error %d, %d files", o.Kind, x.E, len(x.Files))
+	}
+}
+
+// A file is no longer than what was issued asks for, and twice as many sectors are enough.
+func TestNoMoreRoomThanIssued(t *testing.T) {
+	for seed := range uint32(60) {
+		// At first there is room for all; then just as much as was asked for at most.
+		capacity, most := 20000, 0
+		for range 2 {
+			p := &play{f: crashfs.New(capacity), m: model.New(), dice: sample.Dice(seed)}
+			must(t, p.m, step(model.Create, "", ""), p.do(step(model.Create, "", "")))
+			must(t, p.m, step(model.Open, "", ""), p.do(step(model.Open, "", "")))
+			var l space.Ledger
+			for range 80 {
+				o := p.op()
+				switch o.Kind {
+				case model.Create, model.Open, model.Close, model.Verify, model.Refuse, model.Cut, model.Crash:
+					continue
+				}
+				x := p.do(o)
+				must(t, p.m, o, x)
+				live, _ := p.m.Now()
+				if x.E == api.OK {
+					issue(&l, o, live)
+				}
+				bound := l.Bound(live)
+				most = max(most, bound)
+				if n := len(sample.Content(p.f, "a")) / 512; n > space.Sectors(bound) {
+					t.Fatalf("seed %d, kind %d: %d sectors, for %d bytes", seed, o.Kind, n, bound)
+				}
+			}
+			capacity = space.Capacity(most)
+		}
+	}
+}
+
+// issue has in a ledger what a step asks for.
+func issue(l *space.Ledger, o api.Op, live []api.File) {
+	switch o.Kind {
+	case model.Put:
+		l.Put(o.Name, len(o.Data))
+	case model.Delete:
+		l.Delete(o.Name)
+	case model.Begin:
+		l.Stream(o.Name)
+	case model.Write:
+		l.More(len(o.Data))
+	case model.Vacuum:
+		l.Vacuum(live)
+	}
+}
+
+// What is changed within 32 bits in a payload is found, and changes nothing else.
+func TestBurstsInAPayloadAreFound(t *testing.T) {
+	f, a := created(t)
+	all := []api.File{sample.File("p", strings.Repeat("text ", 9)), sample.File("s", "stored"), sample.File("t", "streamed")}
+	a.Put("p", all[0].Data, 2)
+	a.Put("s", all[1].Data, -1)
+	a.Begin("t")
+	a.Write(all[2].Data)
+	a.Finish()
+	members := slices.Collect(a.List(""))
+	want(t, "Close", a.Close(), api.OK)
+	id, _ := f.Open("a")
+	for i, m := range members {
+		area, _ := f.Read(id, m.From, m.Area)
+		for at, spoilt := range sample.Bursts(area, 28) {
+			f.Write(id, m.From, spoilt)
+			a = opened(t, f)
+			for j, x := range all {
+				data, e := a.Get(x.Name)
+				if i == j && (e != api.ErrSum || len(data) != 0) || i != j && (e != api.OK || !bytes.Equal(data, x.Data)) {
+					t.Fatalf("%q spoilt at %d: Get %q: %q %d", m.Name, at, x.Name, data, e)
+				}
+			}
+		}
+		f.Write(id, m.From, area)
+	}
+	wantAll(t, opened(t, f), all...)
 }

@@ -83,20 +83,6 @@ func filed(t *testing.T, name string, b []byte) *crashfs.FS {
 	return f
 }
 
-// content is all bytes that a file's sectors have.
-func content(t *testing.T, f *crashfs.FS, name string) []byte {
-	t.Helper()
-	id, e := f.Open(name)
-	if e != api.OK {
-		t.Fatalf("%q isn't there", name)
-	}
-	b, e := f.Read(id, 0, f.Size(id)*512)
-	if e != api.OK {
-		t.Fatal("not read")
-	}
-	return b
-}
-
 // full is bytes, and behind them 0 up to whole sectors.
 func full(b []byte) []byte {
 	return append(bytes.Clone(b), make([]byte, (512-len(b)%512)%512)...)
@@ -263,14 +249,14 @@ func TestMake(t *testing.T) {
 		if e := commit.Make(f, &c, name); e != api.OK {
 			t.Fatalf("Make(%q): %d", name, e)
 		}
-		if !slices.Equal(f.Names(), []string{name}) || !bytes.Equal(content(t, f, name), full(image)) || f.Waiting() != 0 {
+		if !slices.Equal(f.Names(), []string{name}) || !bytes.Equal(sample.Content(f, name), full(image)) || f.Waiting() != 0 {
 			t.Errorf("Make(%q): %q", name, f.Names())
 		}
 		if all, refused := f.Calls(); all != 5 || refused != 0 {
 			t.Errorf("Make(%q): %d calls, %d refused", name, all, refused)
 		}
 		f.Crash(api.Crash{})
-		if !bytes.Equal(content(t, f, name), full(image)) {
+		if !bytes.Equal(sample.Content(f, name), full(image)) {
 			t.Error("not safe")
 		}
 	}
@@ -390,7 +376,7 @@ func TestOpen(t *testing.T) {
 	if e != api.OK || !slices.Equal(got, l) || s.End() != 1024+len(b) || s.Poisoned() || s.Slot() != (api.Slot{Seq: 1, End: s.End(), Dir: 64, Clean: true}) {
 		t.Fatalf("Open: %v %d", got, e)
 	}
-	if all, _ := f.Calls(); all != before+2 || !bytes.Equal(content(t, f, "a"), full(image)) {
+	if all, _ := f.Calls(); all != before+2 || !bytes.Equal(sample.Content(f, "a"), full(image)) {
 		t.Error("other calls, or changed bytes")
 	}
 	if data, e := s.Read(l[0].From, 3); !bytes.Equal(data, sample.Bytes(3, 0)) || e != api.OK {
@@ -452,7 +438,7 @@ func TestOpenSyncs(t *testing.T) {
 		t.Fatalf("%d", e)
 	}
 	f.Crash(api.Crash{})
-	if !bytes.Equal(content(t, f, "a"), full(image)) {
+	if !bytes.Equal(sample.Content(f, "a"), full(image)) {
 		t.Error("not safe")
 	}
 }
@@ -506,7 +492,7 @@ func TestLay(t *testing.T) {
 	f, s := opened(t, 3)
 	end := s.End()
 	before, _ := f.Calls()
-	bytesAhead := content(t, f, "a")
+	bytesAhead := sample.Content(f, "a")
 	dirty := api.Slot{Seq: 2, End: end}
 	if e := s.Lay(0, []byte("first"), 20); e != api.OK {
 		t.Fatal(e)
@@ -528,12 +514,12 @@ func TestLay(t *testing.T) {
 	c := crc.Make()
 	sector, _ := slot.Put(&c, dirty)
 	want := slices.Concat(sector, bytesAhead[512:end], []byte("firstsecond"), bytesAhead[end+11:])
-	if !bytes.Equal(content(t, f, "a"), want) {
+	if !bytes.Equal(sample.Content(f, "a"), want) {
 		t.Error("other bytes")
 	}
 	f.Crash(api.Crash{})
 	copy(want[1024:], bytesAhead[1024:])
-	if !bytes.Equal(content(t, f, "a"), want) {
+	if !bytes.Equal(sample.Content(f, "a"), want) {
 		t.Error("the mark isn't safe, or something else is")
 	}
 }
@@ -543,7 +529,7 @@ func TestLayFarOff(t *testing.T) {
 	if e := s.Lay(3000, []byte("x"), 0); e != api.OK {
 		t.Fatal(e)
 	}
-	if b := content(t, f, "a"); len(b) != 4096+512 && len(b) != 4096 || b[4024] != 'x' {
+	if b := sample.Content(f, "a"); len(b) != 4096+512 && len(b) != 4096 || b[4024] != 'x' {
 		t.Errorf("%d bytes", len(b))
 	}
 	wantState(t, "far off", s, api.Slot{Seq: 2, End: 1024}, 1024, false)
@@ -696,11 +682,11 @@ func TestCommit(t *testing.T) {
 	clean := api.Slot{Seq: 3, End: 1024 + len(b), Dir: 64, Clean: true}
 	wantState(t, "a Commit", s, clean, clean.End, false)
 	want := laid(t, api.Slot{Seq: 2, End: was.End}, clean, b, directory(t, l))
-	if got := content(t, f, "a"); !bytes.Equal(got[:len(want)], want) {
+	if got := sample.Content(f, "a"); !bytes.Equal(got[:len(want)], want) {
 		t.Error("other bytes")
 	}
 	f.Crash(api.Crash{})
-	wantLoad(t, "behind a crash", content(t, f, "a"), clean, l, api.OK)
+	wantLoad(t, "behind a crash", sample.Content(f, "a"), clean, l, api.OK)
 	s = store(t, f)
 	put(t, s, []byte("none"))
 	wantState(t, "again", s, api.Slot{Seq: 4, End: clean.End}, clean.End+4, false)
@@ -731,7 +717,7 @@ func TestCommitRefused(t *testing.T) {
 	f, s := opened(t)
 	s.Lay(0, nil, 0)
 	s.Grow(most - s.End() - 64)
-	if e := s.Commit(l); e != api.OK || len(content(t, f, "a")) != most {
+	if e := s.Commit(l); e != api.OK || len(sample.Content(f, "a")) != most {
 		t.Errorf("with just as much room: %d", e)
 	}
 }
@@ -787,7 +773,7 @@ func TestSwap(t *testing.T) {
 		}
 		counts := api.Slot{Seq: 1, End: 1024 + len(b), Dir: 86, Clean: true}
 		wantState(t, "a Swap", s, counts, counts.End, false)
-		if !slices.Equal(f.Names(), []string{"a"}) || !bytes.Equal(content(t, f, "a"), full(image)) || f.Waiting() != 0 && dirty == 0 {
+		if !slices.Equal(f.Names(), []string{"a"}) || !bytes.Equal(sample.Content(f, "a"), full(image)) || f.Waiting() != 0 && dirty == 0 {
 			t.Error("another file")
 		}
 		if data, e := s.Read(l[1].From, 70); !bytes.Equal(data, sample.Bytes(70, 1)) || e != api.OK {
@@ -796,7 +782,7 @@ func TestSwap(t *testing.T) {
 		put(t, s, []byte("more"))
 		wantState(t, "a Swap, and more", s, api.Slot{Seq: 2, End: counts.End}, counts.End+4, false)
 		f.Crash(api.Crash{})
-		wantLoad(t, "behind a crash", content(t, f, "a"), api.Slot{Seq: 2, End: counts.End}, l, api.OK)
+		wantLoad(t, "behind a crash", sample.Content(f, "a"), api.Slot{Seq: 2, End: counts.End}, l, api.OK)
 	}
 }
 
@@ -911,7 +897,7 @@ func TestAStoreKeepsNothingThatIsHandedIn(t *testing.T) {
 	if e := s.Commit(l); e != api.OK {
 		t.Fatal(e)
 	}
-	wantLoad(t, "committed", content(t, f, "a"), api.Slot{Seq: 3, End: 1024 + len(b) + 4, Dir: 42, Clean: true}, l, api.OK)
+	wantLoad(t, "committed", sample.Content(f, "a"), api.Slot{Seq: 3, End: 1024 + len(b) + 4, Dir: 42, Clean: true}, l, api.OK)
 }
 
 // 27.5
@@ -984,7 +970,7 @@ func (p *plan) crash() {
 		keep[i] = p.dice(2) == 0
 	}
 	p.f.Crash(api.Crash{Keep: keep, Names: p.dice(5), Fill: byte(p.dice(256))})
-	ahead := content(p.t, p.f, "a")
+	ahead := sample.Content(p.f, "a")
 	s, l, e := commit.Open(p.f, &p.c, "a")
 	if e != api.OK {
 		p.t.Fatalf("behind a crash: %d", e)
@@ -992,7 +978,7 @@ func (p *plan) crash() {
 	if !slices.ContainsFunc(p.may, func(x []api.Member) bool { return slices.Equal(x, l) }) {
 		p.t.Fatalf("behind a crash: %v, of %v", l, p.may)
 	}
-	if !bytes.Equal(content(p.t, p.f, "a"), ahead) {
+	if !bytes.Equal(sample.Content(p.f, "a"), ahead) {
 		p.t.Fatal("Open changes bytes")
 	}
 	for _, m := range l {

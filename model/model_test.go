@@ -12,10 +12,6 @@ import (
 	"bindle/sample"
 )
 
-func file(name, data string) api.File {
-	return api.File{Name: name, Data: []byte(data)}
-}
-
 func same(a, b []api.File) bool {
 	return slices.EqualFunc(a, b, func(x, y api.File) bool { return x.Name == y.Name && string(x.Data) == string(y.Data) })
 }
@@ -23,19 +19,19 @@ func same(a, b []api.File) bool {
 // 25.1
 
 func TestWithAndWithout(t *testing.T) {
-	b, d := file("b", "1"), file("d", "22")
+	b, d := sample.File("b", "1"), sample.File("d", "22")
 	l := []api.File{b, d}
 	for _, x := range []struct {
 		name string
 		with []api.File
 		gone []api.File
 	}{
-		{"a", []api.File{file("a", "new"), b, d}, l},
-		{"b", []api.File{file("b", "new"), d}, []api.File{d}},
-		{"c", []api.File{b, file("c", "new"), d}, l},
-		{"d", []api.File{b, file("d", "new")}, []api.File{b}},
-		{"da", []api.File{b, d, file("da", "new")}, l},
-		{"", []api.File{file("", "new"), b, d}, l},
+		{"a", []api.File{sample.File("a", "new"), b, d}, l},
+		{"b", []api.File{sample.File("b", "new"), d}, []api.File{d}},
+		{"c", []api.File{b, sample.File("c", "new"), d}, l},
+		{"d", []api.File{b, sample.File("d", "new")}, []api.File{b}},
+		{"da", []api.File{b, d, sample.File("da", "new")}, l},
+		{"", []api.File{sample.File("", "new"), b, d}, l},
 	} {
 		data := []byte("new")
 		with, gone := model.With(l, x.name, data), model.Without(l, x.name)
@@ -44,7 +40,7 @@ func TestWithAndWithout(t *testing.T) {
 		}
 		spoil(with)
 		spoil(gone)
-		if string(data) != "new" || !same(l, []api.File{file("b", "1"), file("d", "22")}) {
+		if string(data) != "new" || !same(l, []api.File{sample.File("b", "1"), sample.File("d", "22")}) {
 			t.Fatalf("%q: changed, or not new memory", x.name)
 		}
 	}
@@ -67,7 +63,7 @@ func spoil(l []api.File) {
 }
 
 func TestFind(t *testing.T) {
-	l := []api.File{file("b", "1"), file("d", "22"), file("e", "")}
+	l := []api.File{sample.File("b", "1"), sample.File("d", "22"), sample.File("e", "")}
 	for name, want := range map[string]string{"b": "1", "d": "22", "e": ""} {
 		data, there := model.Find(l, name)
 		if string(data) != want || !there {
@@ -90,8 +86,8 @@ func TestFind(t *testing.T) {
 
 func TestSame(t *testing.T) {
 	all := [][]api.File{
-		nil, {file("a", "")}, {file("a", "x")}, {file("b", "x")}, {file("a", "xy")}, {file("a", "x"), file("b", "y")}, {file("b", "y"), file("a", "x")},
-		{file("a", "x"), file("a", "x")}, {file("a", "x"), file("b", "z")}, {file("", "")},
+		nil, {sample.File("a", "")}, {sample.File("a", "x")}, {sample.File("b", "x")}, {sample.File("a", "xy")}, {sample.File("a", "x"), sample.File("b", "y")}, {sample.File("b", "y"), sample.File("a", "x")},
+		{sample.File("a", "x"), sample.File("a", "x")}, {sample.File("a", "x"), sample.File("b", "z")}, {sample.File("", "")},
 	}
 	for i, a := range all {
 		for j, b := range all {
@@ -100,7 +96,7 @@ func TestSame(t *testing.T) {
 			}
 		}
 	}
-	if !model.Same(nil, []api.File{}) || !model.Same([]api.File{{Name: "a"}}, []api.File{file("a", "")}) {
+	if !model.Same(nil, []api.File{}) || !model.Same([]api.File{{Name: "a"}}, []api.File{sample.File("a", "")}) {
 		t.Error("nil and empty are one")
 	}
 }
@@ -154,7 +150,7 @@ func there(l ...api.File) model.State {
 func full() []api.File {
 	var l []api.File
 	for i := range 200 {
-		l = append(l, file(fmt.Sprintf("n%03d", i), "x"))
+		l = append(l, sample.File(fmt.Sprintf("n%03d", i), "x"))
 	}
 	return l
 }
@@ -166,7 +162,7 @@ func refused(poisoned bool) model.Answer {
 
 // all are models of every kind that the chapter tells apart.
 func all() []known {
-	a, b := file("a", "data"), file("b", "old")
+	a, b := sample.File("a", "data"), sample.File("b", "old")
 	after := func(m *model.Model, steps func(m *model.Model)) *model.Model {
 		steps(m)
 		return m
@@ -358,7 +354,7 @@ func wantKnown(t *testing.T, m *model.Model, k known) {
 	if !model.Same(l, k.now) || open != k.open {
 		t.Fatalf("%s: Now: %d files, %t", k.what, len(l), open)
 	}
-	for _, s := range []model.State{{}, there(), there(file("b", "old")), there(file("a", "data"), file("b", "old")), there(file("a", "data")), there(full()...), there(full()[1:]...), there(file("b", "other"))} {
+	for _, s := range []model.State{{}, there(), there(sample.File("b", "old")), there(sample.File("a", "data"), sample.File("b", "old")), there(sample.File("a", "data")), there(full()...), there(full()[1:]...), there(sample.File("b", "other"))} {
 		want := slices.ContainsFunc(k.may, func(x model.State) bool { return x.There == s.There && same(x.Files, s.Files) })
 		if m.Can(s) != want {
 			t.Fatalf("%s: Can(%v): %t", k.what, s, !want)
@@ -370,7 +366,7 @@ func TestWhatIsKnown(t *testing.T) {
 	for _, k := range all() {
 		wantKnown(t, k.make(), k)
 	}
-	if !model.New().Can(model.State{Files: []api.File{file("x", "y")}}) {
+	if !model.New().Can(model.State{Files: []api.File{sample.File("x", "y")}}) {
 		t.Error("of one without an archive Files count")
 	}
 }
@@ -395,7 +391,7 @@ func TestWhatElseIsAnswered(t *testing.T) {
 					case 3:
 						a.Names = append(slices.Clone(a.Names), "x")
 					case 4:
-						a.Files = append(slices.Clone(a.Files), file("x", ""))
+						a.Files = append(slices.Clone(a.Files), sample.File("x", ""))
 					case 5:
 						a.Size--
 					}
@@ -416,9 +412,9 @@ func TestWhatElseIsAnswered(t *testing.T) {
 		case 2:
 			a.Names = []string{"b"}
 		case 3:
-			a.Files = []api.File{file("b", "")}
+			a.Files = []api.File{sample.File("b", "")}
 		}
-		if opened(file("b", "")).Step(op(model.Sync, "", ""), a) {
+		if opened(sample.File("b", "")).Step(op(model.Sync, "", ""), a) {
 			t.Errorf("refused, and something else: %d", i)
 		}
 	}
@@ -426,7 +422,7 @@ func TestWhatElseIsAnswered(t *testing.T) {
 
 func TestAnswersOfReading(t *testing.T) {
 	m := func() *model.Model {
-		return opened(file("a", "x"), file("f/b", "yy"), file("f/c", ""), file("g", "zzz"))
+		return opened(sample.File("a", "x"), sample.File("f/b", "yy"), sample.File("f/c", ""), sample.File("g", "zzz"))
 	}
 	for _, x := range []struct {
 		o    api.Op
@@ -446,8 +442,8 @@ func TestAnswersOfReading(t *testing.T) {
 		{op(model.List, "f/", ""), model.Answer{}, true},
 		{op(model.List, "x", ""), model.Answer{}, true},
 		{op(model.List, "", ""), model.Answer{Names: []string{"a", "f/b", "f/c", "g"}}, true},
-		{op(model.Verify, "", ""), model.Answer{Files: []api.File{file("a", "x"), file("f/b", "yy"), file("f/c", ""), file("g", "zzz")}}, true},
-		{op(model.Verify, "", ""), model.Answer{Files: []api.File{file("a", "x"), file("f/b", "yy"), file("f/c", "")}}, false},
+		{op(model.Verify, "", ""), model.Answer{Files: []api.File{sample.File("a", "x"), sample.File("f/b", "yy"), sample.File("f/c", ""), sample.File("g", "zzz")}}, true},
+		{op(model.Verify, "", ""), model.Answer{Files: []api.File{sample.File("a", "x"), sample.File("f/b", "yy"), sample.File("f/c", "")}}, false},
 		{op(model.Verify, "", ""), model.Answer{}, false},
 	} {
 		if m().Step(x.o, x.a) != x.want {
@@ -464,7 +460,7 @@ func wantNow(t *testing.T, m *model.Model, want ...api.File) {
 }
 
 func TestWhatStepsLeaveBehind(t *testing.T) {
-	a, b, c := file("a", "1"), file("b", "2"), file("c", "34")
+	a, b, c := sample.File("a", "1"), sample.File("b", "2"), sample.File("c", "34")
 	m := opened(b)
 	wantNow(t, m, b)
 	must(m, op(model.Put, "a", "1"), model.Answer{})
@@ -492,15 +488,15 @@ func TestWhatStepsLeaveBehind(t *testing.T) {
 	wantNow(t, m, a, c)
 	must(m, op(model.Begin, "e", ""), model.Answer{})
 	must(m, op(model.Finish, "", ""), model.Answer{})
-	wantNow(t, m, a, c, file("e", ""))
+	wantNow(t, m, a, c, sample.File("e", ""))
 	wantMay(t, m, there(b))
 }
 
 // wantMay holds which of many states may be.
 func wantMay(t *testing.T, m *model.Model, want ...model.State) {
 	t.Helper()
-	a, b := file("a", "1"), file("b", "2")
-	for _, s := range []model.State{{}, there(), there(a), there(b), there(a, b), there(file("a", "2")), there(b, a)} {
+	a, b := sample.File("a", "1"), sample.File("b", "2")
+	for _, s := range []model.State{{}, there(), there(a), there(b), there(a, b), there(sample.File("a", "2")), there(b, a)} {
 		may := slices.ContainsFunc(want, func(x model.State) bool { return x.There == s.There && same(x.Files, s.Files) })
 		if m.Can(s) != may {
 			t.Fatalf("Can(%v): %t", s, !may)
@@ -509,7 +505,7 @@ func wantMay(t *testing.T, m *model.Model, want ...model.State) {
 }
 
 func TestWhatMayBeFound(t *testing.T) {
-	a, b := file("a", "1"), file("b", "2")
+	a, b := sample.File("a", "1"), sample.File("b", "2")
 	m := model.New()
 	wantMay(t, m, model.State{})
 	must(m, op(model.Open, "", ""), model.Answer{E: api.ErrNotFound})
@@ -569,7 +565,7 @@ func TestStreamsEnd(t *testing.T) {
 		must(m, op(model.Finish, "", ""), model.Answer{E: api.ErrNoStream})
 		must(m, op(model.Begin, "b", ""), model.Answer{})
 		must(m, op(model.Finish, "", ""), model.Answer{})
-		wantNow(t, m, file("b", ""))
+		wantNow(t, m, sample.File("b", ""))
 	}
 }
 
@@ -587,7 +583,7 @@ func TestAStreamsSize(t *testing.T) {
 	write(0, api.OK)
 	write(1, api.ErrSize)
 	must(m, op(model.Finish, "", ""), model.Answer{})
-	wantNow(t, m, file("a", string(make([]byte, 65536))))
+	wantNow(t, m, sample.File("a", string(make([]byte, 65536))))
 }
 
 func TestModelKeepsNothingThatIsHandedIn(t *testing.T) {
@@ -599,13 +595,13 @@ func TestModelKeepsNothingThatIsHandedIn(t *testing.T) {
 	must(m, api.Op{Kind: model.Write, Data: data}, model.Answer{})
 	must(m, op(model.Finish, "", ""), model.Answer{})
 	clear(data)
-	want := []api.File{file("a", "data"), file("b", "datadata")}
+	want := []api.File{sample.File("a", "data"), sample.File("b", "datadata")}
 	wantNow(t, m, want...)
 	l, _ := m.Now()
 	spoil(l)
 	wantNow(t, m, want...)
 	must(m, op(model.Close, "", ""), model.Answer{})
-	found := []api.File{file("a", "data"), file("b", "datadata")}
+	found := []api.File{sample.File("a", "data"), sample.File("b", "datadata")}
 	must(m, op(model.Open, "", ""), model.Answer{Files: found})
 	spoil(found)
 	wantNow(t, m, want...)
@@ -681,7 +677,7 @@ func listed(m map[string]string) []api.File {
 	var l []api.File
 	for _, name := range []string{"a", "b", "c", "d"} {
 		if data, has := m[name]; has {
-			l = append(l, file(name, data))
+			l = append(l, sample.File(name, data))
 		}
 	}
 	return l

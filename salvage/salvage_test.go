@@ -20,10 +20,6 @@ import (
 	"bindle/verify"
 )
 
-func file(name, data string) api.File {
-	return api.File{Name: name, Data: []byte(data)}
-}
-
 // laid is bytes of which records stand among others, and the rows that should be found.
 type laid struct {
 	t    *testing.T
@@ -50,7 +46,7 @@ func (x *laid) add(b []byte, e api.Errno, row salvage.Row) {
 func (x *laid) put(name, data string, level int) {
 	x.t.Helper()
 	b, e := record.Put(&x.c, name, []byte(data), level)
-	x.add(b, e, salvage.Row{File: file(name, data)})
+	x.add(b, e, salvage.Row{File: sample.File(name, data)})
 }
 
 func (x *laid) stream(name string, rows ...string) {
@@ -60,13 +56,13 @@ func (x *laid) stream(name string, rows ...string) {
 		l = append(l, []byte(s))
 	}
 	b, e := record.Stream(&x.c, name, l)
-	x.add(b, e, salvage.Row{File: file(name, strings.Join(rows, ""))})
+	x.add(b, e, salvage.Row{File: sample.File(name, strings.Join(rows, ""))})
 }
 
 func (x *laid) gone(name string) {
 	x.t.Helper()
 	b, e := stone.Put(&x.c, name)
-	x.add(b, e, salvage.Row{File: file(name, ""), Gone: true})
+	x.add(b, e, salvage.Row{File: sample.File(name, ""), Gone: true})
 }
 
 func (x *laid) other(b ...byte) {
@@ -160,7 +156,7 @@ func TestRows(t *testing.T) {
 		wantAll(t, "several", x.b, limit, within(x.rows, limit))
 	}
 	c := crc.Make()
-	if l := salvage.Files(&c, x.b, 1000); !model.Same(l, []api.File{file("a", strings.Repeat("second ", 40)), file("aa", ""), file("c", "ccc")}) {
+	if l := salvage.Files(&c, x.b, 1000); !model.Same(l, []api.File{sample.File("a", strings.Repeat("second ", 40)), sample.File("aa", ""), sample.File("c", "ccc")}) {
 		t.Errorf("by hand: %v", l)
 	}
 	if n := salvage.Lost(&c, x.b, 1000); n != 4+1+5+50 {
@@ -229,7 +225,7 @@ func TestARecordInARecord(t *testing.T) {
 	wantAll(t, "whole", x.b, 1000, x.rows)
 	x.b[1024]++
 	at := 1024 + 25 + 5
-	row := salvage.Row{At: at, Next: at + len(inner.b) - 1024, File: file("in", "inner")}
+	row := salvage.Row{At: at, Next: at + len(inner.b) - 1024, File: sample.File("in", "inner")}
 	wantAll(t, "the outer one spoilt", x.b, 1000, []salvage.Row{row, x.rows[1]})
 	c := crc.Make()
 	if len(salvage.Files(&c, x.b, 1000)) != 0 || len(salvage.Files(&c, x.b[:x.rows[1].At], 1000)) != 1 {
@@ -243,7 +239,7 @@ func TestOverIsPassedOver(t *testing.T) {
 	x.put("a", "longer", 0)
 	wantAll(t, "a longer one behind", x.b, 3, within(x.rows, 3))
 	c := crc.Make()
-	if l := salvage.Files(&c, x.b, 3); !model.Same(l, []api.File{file("a", "one")}) {
+	if l := salvage.Files(&c, x.b, 3); !model.Same(l, []api.File{sample.File("a", "one")}) {
 		t.Errorf("the last one that has data: %v", l)
 	}
 	x.gone("a")
@@ -293,7 +289,7 @@ func TestEachKeepsNothingThatIsHandedIn(t *testing.T) {
 
 func TestRebuild(t *testing.T) {
 	text := strings.Repeat("text ", 60)
-	for _, l := range [][]api.File{nil, {file("a", "")}, {file("a", text), file("a/b", "x"), file("b", "")}} {
+	for _, l := range [][]api.File{nil, {sample.File("a", "")}, {sample.File("a", text), sample.File("a/b", "x"), sample.File("b", "")}} {
 		for level := -2; level < 5; level++ {
 			x := lay(t)
 			for _, f := range l {
@@ -313,13 +309,13 @@ func TestRebuild(t *testing.T) {
 }
 
 func TestRebuildRefused(t *testing.T) {
-	long := file("b", string(make([]byte, 65537)))
+	long := sample.File("b", string(make([]byte, 65537)))
 	var many, great []api.File
 	for i := range 201 {
-		many = append(many, file(fmt.Sprintf("n%03d", i), ""))
+		many = append(many, sample.File(fmt.Sprintf("n%03d", i), ""))
 	}
 	for i := range 33 {
-		great = append(great, file(fmt.Sprintf("n%03d", i), string(make([]byte, 65536))))
+		great = append(great, sample.File(fmt.Sprintf("n%03d", i), string(make([]byte, 65536))))
 	}
 	c := crc.Make()
 	for _, x := range []struct {
@@ -327,12 +323,12 @@ func TestRebuildRefused(t *testing.T) {
 		l    []api.File
 		e    api.Errno
 	}{
-		{"no name", []api.File{file("", "")}, api.ErrName},
-		{"no name, then too long", []api.File{file("a//b", ""), long}, api.ErrName},
-		{"too long, then no name", []api.File{long, file("", "")}, api.ErrSize},
-		{"falling, then no name", []api.File{file("b", ""), file("a", ""), file("..", "")}, api.ErrName},
-		{"falling", []api.File{file("b", ""), file("a", "")}, api.ErrArg},
-		{"one name twice", []api.File{file("a", "1"), file("a", "2")}, api.ErrArg},
+		{"no name", []api.File{sample.File("", "")}, api.ErrName},
+		{"no name, then too long", []api.File{sample.File("a//b", ""), long}, api.ErrName},
+		{"too long, then no name", []api.File{long, sample.File("", "")}, api.ErrSize},
+		{"falling, then no name", []api.File{sample.File("b", ""), sample.File("a", ""), sample.File("..", "")}, api.ErrName},
+		{"falling", []api.File{sample.File("b", ""), sample.File("a", "")}, api.ErrArg},
+		{"one name twice", []api.File{sample.File("a", "1"), sample.File("a", "2")}, api.ErrArg},
 		{"too many", many, api.ErrArg},
 		{"too great", great, api.ErrLimit},
 	} {
@@ -350,7 +346,7 @@ func TestRebuildRefused(t *testing.T) {
 
 func TestRebuildKeepsNothing(t *testing.T) {
 	c := crc.Make()
-	l := []api.File{file("a", "data"), file("b", "")}
+	l := []api.File{sample.File("a", "data"), sample.File("b", "")}
 	b, _ := salvage.Rebuild(&c, l, -1)
 	kept := bytes.Clone(b)
 	clear(l[0].Data)
@@ -407,5 +403,5 @@ func TestNilTable(t *testing.T) {
 	}
 	salvage.Files(nil, x.b, 9)
 	salvage.Lost(nil, x.b, 9)
-	salvage.Rebuild(nil, []api.File{file("a", "x")}, 0)
+	salvage.Rebuild(nil, []api.File{sample.File("a", "x")}, 0)
 }

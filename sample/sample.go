@@ -1,4 +1,4 @@
-// Package sample is what the tests of several layers need: numbers and bytes without a plain pattern, the same ones in each run, bits as text, tokens of a text, what is changed within 32 bits, and what is refused.
+// Package sample is what the tests of several layers need: numbers and bytes without a plain pattern, the same ones in each run, bits as text, tokens of a text, what is changed within 32 bits, files and their bytes, and what is refused.
 package sample
 
 import (
@@ -9,6 +9,7 @@ import (
 
 	"bindle/api"
 	"bindle/bits"
+	"bindle/crashfs"
 	"bindle/crc"
 )
 
@@ -95,6 +96,21 @@ func Tokens(text string) []api.Token {
 		l = append(l, api.Token{Byte: x})
 	}
 	return l
+}
+
+// File is a file of a text.
+func File(name, text string) api.File {
+	return api.File{Name: name, Data: []byte(text)}
+}
+
+// Content is all bytes that a file's sectors have: none, if it isn't there.
+func Content(f *crashfs.FS, name string) []byte {
+	id, e := f.Open(name)
+	if e != api.OK {
+		return nil
+	}
+	b, _ := f.Read(id, 0, api.Sector*f.Size(id))
+	return b
 }
 
 // Refusal is bytes, a place of them, and with which error what should stand there is refused.

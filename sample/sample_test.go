@@ -1,11 +1,13 @@
 package sample_test
 
 import (
+	"bytes"
 	"slices"
 	"testing"
 
 	"bindle/api"
 	"bindle/bits"
+	"bindle/crashfs"
 	"bindle/sample"
 )
 
@@ -83,5 +85,20 @@ func TestRefusals(t *testing.T) {
 	}
 	if often[api.ErrArg] != 16 || often[api.ErrForm] != 8+3 || often[api.ErrEnd] != 2*7+4+1 || len(often) != 3 || string(b) != "MARKabc" {
 		t.Errorf("%v, %q", often, b)
+	}
+}
+
+func TestFilesAndTheirBytes(t *testing.T) {
+	if f := sample.File("a", "data"); f.Name != "a" || string(f.Data) != "data" || len(sample.File("", "").Data) != 0 {
+		t.Errorf("%v", f)
+	}
+	f := crashfs.New(9)
+	id, _ := f.Create("a")
+	f.Write(id, 0, sample.Bytes(600, 1))
+	if b := sample.Content(f, "a"); len(b) != 1024 || !bytes.Equal(b[:600], sample.Bytes(600, 1)) || b[600] != 0 {
+		t.Errorf("%d bytes", len(b))
+	}
+	if len(sample.Content(f, "b")) != 0 || len(sample.Content(nil, "a")) != 0 {
+		t.Error("bytes of what isn't there")
 	}
 }

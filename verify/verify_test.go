@@ -23,10 +23,6 @@ import (
 	"bindle/verify"
 )
 
-func file(name, data string) api.File {
-	return api.File{Name: name, Data: []byte(data)}
-}
-
 // laid is bytes of a slot, and of what stands from 1024 on.
 func laid(t *testing.T, s api.Slot, rest ...[]byte) []byte {
 	t.Helper()
@@ -61,7 +57,7 @@ func records(t *testing.T) []byte {
 }
 
 func files() []api.File {
-	return []api.File{file("a/s", "onetwo"), file("b", "new"), file("c", string(bytes.Repeat([]byte("text "), 40)))}
+	return []api.File{sample.File("a/s", "onetwo"), sample.File("b", "new"), sample.File("c", string(bytes.Repeat([]byte("text "), 40)))}
 }
 
 func live(t *testing.T, b []byte) []api.Member {
@@ -374,11 +370,9 @@ func TestWhatIsCheckedIsAnArchive(t *testing.T) {
 				t.Fatalf("seed %d, behind a Vacuum: %d", seed, e)
 			}
 		}
-		id, _ := f.Open("a")
-		b, _ := f.Read(id, 0, 512*f.Size(id))
 		other := crashfs.New(1000)
-		id, _ = other.Create("b")
-		other.Write(id, 0, b)
+		id, _ := other.Create("b")
+		other.Write(id, 0, sample.Content(f, "a"))
 		again, e := archive.Open(other, "b")
 		if l, fe := again.Files(); e != api.OK || fe != api.OK || !model.Same(l, want) {
 			t.Fatalf("seed %d: laid as a file: %d", seed, e)
