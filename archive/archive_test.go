@@ -19,7 +19,6 @@ import (
 	"bindle/sample"
 	"bindle/scan"
 	"bindle/slot"
-	"bindle/space"
 	"bindle/stone"
 )
 
@@ -756,246 +755,46 @@ func TestVacuumRefused(t *testing.T) {
 
 // 28.6
 
-// play is an archive whose file system refuses calls and crashes, and the model of what may be told of it.
-type play struct {
-	f    *crashfs.FS
-	a    *archive.Archive
-	m    *model.Model
-	dice func(int) int
-}
-
-func (p *play) op() api.Op {
-	names := []string{"a", "a/b", "a/c", "b", "a//b"}
-	o := api.Op{Kind: 1 + p.dice(18), Name: names[p.dice(5)], N: p.dice(4) - 1}
-	if p.dice(2) == 0 {
-		o.Kind = []int{model.Open, model.Put, model.Begin, model.Write, model.Finish, model.Sync}[p.dice(6)]
-	}
-	switch o.Kind {
-	case model.Put, model.Write:
-		o.Data = bytes.Repeat(sample.Bytes(p.dice(50), uint32(p.dice(999))), p.dice(30))
-	case model.List:
-		o.Name = []string{"", "a", "b"}[p.dice(3)]
-	case model.Refuse:
-		o.N = 1 + p.dice(12)
-	}
-	return o
-}
-
-// do is a step, and what is answered.
-func (p *play) do(o api.Op) model.Answer {
-	var x model.Answer
-	_, before := p.f.Calls()
-	switch o.Kind {
-	case model.Create:
-		x.E = archive.Create(p.f, "a")
-	case model.Open:
-		if p.a != nil && p.a.End() > 0 {
-			x.E = api.ErrBusy
-			break
-		}
-		if p.a, x.E = archive.Open(p.f, "a"); x.E == api.OK {
-			x.Files, x.E = p.a.Files()
-		}
-	case model.Refuse:
-		all, _ := p.f.Calls()
-		p.f.Refuse([]int{all + o.N, all + o.N + 1})
-	case model.Crash:
-		keep := make([]bool, p.f.Waiting())
-		for i := range keep {
-			keep[i] = p.dice(2) == 0
-		}
-		p.f.Crash(api.Crash{Keep: keep, Names: p.dice(4), Fill: byte(p.dice(256))})
-		p.a = nil
-	default:
-		p.doOpen(o, &x)
-	}
-	_, after := p.f.Calls()
-	x.Refused, x.Poisoned = after > before, p.a.Poisoned()
-	return x
-}
-
-func (p *play) doOpen(o api.Op, x *model.Answer) {
-	switch o.Kind {
-	case model.Put:
-		x.E = p.a.Put(o.Name, o.Data, o.N)
-	case model.Begin:
-		x.E = p.a.Begin(o.Name)
-	case model.Write:
-		x.E = p.a.Write(o.Data)
-	case model.Finish:
-		x.E = p.a.Finish()
-	case model.Abort:
-		x.E = p.a.Abort()
-	case model.Get:
-		x.Data, x.E = p.a.Get(o.Name)
-	case model.Stat:
-		var m api.Member
-		m, x.E = p.a.Stat(o.Name)
-		x.Size = m.Size
-	case model.List:
-		x.Names = p.a.Names(o.Name)
-	case model.Delete:
-		x.E = p.a.Delete(o.Name)
-	case model.Sync:
-		x.E = p.a.Sync()
-	case model.Vacuum:
-		x.E = p.a.Vacuum(o.N)
-	case model.Close:
-		x.E = p.a.Close()
-	}
-}
-
-func TestPlays(t *testing.T) {
-	for seed := range uint32(300) {
-		p := &play{f: crashfs.New(400), a: &archive.Archive{}, m: model.New(), dice: sample.Dice(seed)}
-		for i := range 120 {
-			o := p.op()
-			switch o.Kind {
-			case model.List, model.Verify, model.Cut:
-				// A List of what isn't open tells no error, and the others aren't of this layer.
-				continue
-			}
-			if p.a == nil {
-				p.a = &archive.Archive{}
-			}
-			x := p.do(o)
-			if !p.m.Step(o, x) {
-				t.Fatalf("seed %d, step %d, kind %d: error %d, refused %t, poisoned %t, %d files", seed, i, o.Kind, x.E, x.Refused, x.Poisoned, len(x.Files))
-			}
-			if l, open := p.m.Now(); open {
-				wantAll(t, p.a, l...)
-			}
-		}
-	}
-}
-
-func step(kind int, name, data string) api.Op {
-	return api.Op{Kind: kind, Name: name, Data: []byte(data)}
-}
-
-// script is steps that change an archive in all ways, and make it safe again and again.
-func script() []api.Op {
-	long := strings.Repeat("0123456789", 70)
-	return []api.Op{
-		step(model.Create, "", ""), step(model.Open, "", ""),
-		step(model.Put, "a", "first"), step(model.Sync, "", ""),
-		step(model.Put, "b", long), step(model.Begin, "c", ""), step(model.Write, "", "one"), step(model.Write, "", long), step(model.Finish, "", ""),
-		step(model.Sync, "", ""), step(model.Delete, "a", ""), step(model.Put, "b", "new"),
-		step(model.Vacuum, "", ""), step(model.Put, "a", long), step(model.Close, "", ""),
-		step(model.Open, "", ""), step(model.Delete, "c", ""), step(model.Sync, "", ""),
-	}
-}
-
-// Whenever the power goes, and whatever is kept of what waits, the next Open finds what may be, and changes no byte.
-func TestThePowerGoesAnywhere(t *testing.T) {
-	for n := 1; ; n++ {
-		run := func() *play {
-			p := &play{f: crashfs.New(400), a: &archive.Archive{}, m: model.New(), dice: sample.Dice(uint32(n))}
-			for _, o := range script() {
-				// From one call on all are refused, as if there were no power any more.
-				if all, _ := p.f.Calls(); all < n {
-					var calls []int
-					for k := range 60 {
-						calls = append(calls, n+k)
-					}
-					p.f.Refuse(calls)
+// What was put, or streamed, is got, till it is put anew, or deleted, whatever else is done. (Package play's tests refuse calls, and crash, too.)
+func TestAgainstAMap(t *testing.T) {
+	for seed := range uint32(40) {
+		dice := sample.Dice(seed)
+		f, a := created(t)
+		all := map[string]string{}
+		for i := range 60 {
+			name := []string{"a", "a/b", "a/c", "b", "c"}[dice(5)]
+			data := bytes.Repeat(sample.Bytes(dice(50), seed+uint32(i)), dice(30))
+			_, there := all[name]
+			switch dice(8) {
+			case 0:
+				e := api.OK
+				if !there {
+					e = api.ErrNotFound
 				}
-				if p.a == nil {
-					p.a = &archive.Archive{}
+				want(t, "Delete", a.Delete(name), e)
+				delete(all, name)
+			case 1, 2:
+				want(t, "Begin", a.Begin(name), api.OK)
+				half := dice(len(data) + 1)
+				want(t, "Write", a.Write(data[:half]), api.OK)
+				want(t, "Write", a.Write(data[half:]), api.OK)
+				if dice(3) == 0 {
+					want(t, "Abort", a.Abort(), api.OK)
+					break
 				}
-				if x := p.do(o); !p.m.Step(o, x) {
-					t.Fatalf("power till call %d: kind %d: error %d", n, o.Kind, x.E)
-				}
+				want(t, "Finish", a.Finish(), api.OK)
+				all[name] = string(data)
+			case 3:
+				want(t, "Vacuum", a.Vacuum(dice(5)-1), api.OK)
+			case 4:
+				want(t, "Close", a.Close(), api.OK)
+				a = opened(t, f)
+			default:
+				want(t, "Put", a.Put(name, data, dice(5)-1), api.OK)
+				all[name] = string(data)
 			}
-			return p
+			wantAll(t, a, sample.Files(all)...)
 		}
-		p := run()
-		all, refused := p.f.Calls()
-		waiting := p.f.Waiting()
-		for pattern := range 64 {
-			p := p
-			if pattern > 0 {
-				p = run()
-			}
-			keep := make([]bool, waiting)
-			for i := range keep {
-				keep[i] = pattern>>(i%4)&1 > 0
-			}
-			p.f.Crash(api.Crash{Keep: keep, Names: pattern >> 4, Fill: byte(n)})
-			must(t, p.m, step(model.Crash, "", ""), model.Answer{})
-			var ahead []byte
-			if len(p.f.Names()) > 0 && slices.Contains(p.f.Names(), "a") {
-				ahead = sample.Content(p.f, "a")
-			}
-			a, e := archive.Open(p.f, "a")
-			x := model.Answer{E: e}
-			if e == api.OK {
-				if !bytes.Equal(sample.Content(p.f, "a"), ahead) {
-					t.Fatal("Open changes bytes")
-				}
-				x.Files, x.E = a.Files()
-			}
-			must(t, p.m, step(model.Open, "", ""), x)
-		}
-		if refused == 0 && all < n {
-			break
-		}
-	}
-}
-
-func must(t *testing.T, m *model.Model, o api.Op, x model.Answer) {
-	t.Helper()
-	if !m.Step(o, x) {
-		t.Fatalf("kind %d: error %d, %d files", o.Kind, x.E, len(x.Files))
-	}
-}
-
-// A file is no longer than what was issued asks for, and twice as many sectors are enough.
-func TestNoMoreRoomThanIssued(t *testing.T) {
-	for seed := range uint32(60) {
-		// At first there is room for all; then just as much as was asked for at most.
-		capacity, most := 20000, 0
-		for range 2 {
-			p := &play{f: crashfs.New(capacity), m: model.New(), dice: sample.Dice(seed)}
-			must(t, p.m, step(model.Create, "", ""), p.do(step(model.Create, "", "")))
-			must(t, p.m, step(model.Open, "", ""), p.do(step(model.Open, "", "")))
-			var l space.Ledger
-			for range 80 {
-				o := p.op()
-				switch o.Kind {
-				case model.Create, model.Open, model.Close, model.Verify, model.Refuse, model.Cut, model.Crash:
-					continue
-				}
-				x := p.do(o)
-				must(t, p.m, o, x)
-				live, _ := p.m.Now()
-				if x.E == api.OK {
-					issue(&l, o, live)
-				}
-				bound := l.Bound(live)
-				most = max(most, bound)
-				if n := len(sample.Content(p.f, "a")) / 512; n > space.Sectors(bound) {
-					t.Fatalf("seed %d, kind %d: %d sectors, for %d bytes", seed, o.Kind, n, bound)
-				}
-			}
-			capacity = space.Capacity(most)
-		}
-	}
-}
-
-// issue has in a ledger what a step asks for.
-func issue(l *space.Ledger, o api.Op, live []api.File) {
-	switch o.Kind {
-	case model.Put:
-		l.Put(o.Name, len(o.Data))
-	case model.Delete:
-		l.Delete(o.Name)
-	case model.Begin:
-		l.Stream(o.Name)
-	case model.Write:
-		l.More(len(o.Data))
-	case model.Vacuum:
-		l.Vacuum(live)
 	}
 }
 

@@ -654,13 +654,13 @@ func TestAgainstAMap(t *testing.T) {
 				safe = clone(now)
 			case 4:
 				must(m, op(model.Crash, "", ""), model.Answer{})
-				if fmt.Sprint(safe) != fmt.Sprint(now) && m.Step(op(model.Open, "", ""), model.Answer{Files: listed(now)}) {
+				if fmt.Sprint(safe) != fmt.Sprint(now) && m.Step(op(model.Open, "", ""), model.Answer{Files: sample.Files(now)}) {
 					t.Fatal("what wasn't synced is found")
 				}
-				must(m, op(model.Open, "", ""), model.Answer{Files: listed(safe)})
+				must(m, op(model.Open, "", ""), model.Answer{Files: sample.Files(safe)})
 				now = clone(safe)
 			}
-			wantNow(t, m, listed(now)...)
+			wantNow(t, m, sample.Files(now)...)
 		}
 	}
 }
@@ -671,14 +671,4 @@ func clone(m map[string]string) map[string]string {
 		c[name] = data
 	}
 	return c
-}
-
-func listed(m map[string]string) []api.File {
-	var l []api.File
-	for _, name := range []string{"a", "b", "c", "d"} {
-		if data, has := m[name]; has {
-			l = append(l, sample.File(name, data))
-		}
-	}
-	return l
 }

@@ -1,8 +1,9 @@
-// Package sample is what the tests of several layers need: numbers and bytes without a plain pattern, the same ones in each run, bits as text, tokens of a text, what is changed within 32 bits, files and their bytes, and what is refused.
+// Package sample is what the tests of several layers need: numbers and bytes without a plain pattern, the same ones in each run, bits as text, tokens of a text, what is changed within 32 bits, files and their bytes, steps, and what is refused.
 package sample
 
 import (
 	"iter"
+	"maps"
 	"math"
 	"slices"
 	"strings"
@@ -101,6 +102,20 @@ func Tokens(text string) []api.Token {
 // File is a file of a text.
 func File(name, text string) api.File {
 	return api.File{Name: name, Data: []byte(text)}
+}
+
+// Files is the files of a map, by names.
+func Files(m map[string]string) []api.File {
+	var l []api.File
+	for _, name := range slices.Sorted(maps.Keys(m)) {
+		l = append(l, File(name, m[name]))
+	}
+	return l
+}
+
+// Step is a step of a text.
+func Step(kind int, name, text string) api.Op {
+	return api.Op{Kind: kind, Name: name, Data: []byte(text)}
 }
 
 // Content is all bytes that a file's sectors have: none, if it isn't there.

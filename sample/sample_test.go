@@ -92,6 +92,12 @@ func TestFilesAndTheirBytes(t *testing.T) {
 	if f := sample.File("a", "data"); f.Name != "a" || string(f.Data) != "data" || len(sample.File("", "").Data) != 0 {
 		t.Errorf("%v", f)
 	}
+	if l := sample.Files(map[string]string{"b": "", "a/b": "2", "a": "1"}); len(l) != 3 || l[0].Name != "a" || l[1].Name != "a/b" || string(l[1].Data) != "2" || l[2].Name != "b" || len(sample.Files(nil)) != 0 {
+		t.Errorf("%v", l)
+	}
+	if o := sample.Step(3, "a", "data"); o.Kind != 3 || o.Name != "a" || string(o.Data) != "data" || o.N != 0 || len(o.C.Keep) != 0 {
+		t.Errorf("%v", o)
+	}
 	f := crashfs.New(9)
 	id, _ := f.Create("a")
 	f.Write(id, 0, sample.Bytes(600, 1))
