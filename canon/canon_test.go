@@ -299,21 +299,6 @@ func slowTake(codes []string, there string) (int, api.Errno) {
 	return 0, api.ErrCodes
 }
 
-// lengths is some that may be a code, with symbols without one between.
-func lengths(t *testing.T, throw func(int) int) []int {
-	t.Helper()
-	w := make([]int, 1+throw(1+throw(320)))
-	for i := range w {
-		w[i] = max(0, throw(1+1<<throw(25))-throw(6))
-	}
-	w[throw(len(w))] = 1
-	l, e := weigh.Lengths(w)
-	if e != api.OK {
-		t.Fatal(e)
-	}
-	return l
-}
-
 // wantCodes holds the code of lengths against those that the words give.
 func wantCodes(t *testing.T, l []int, codes []string) *canon.Code {
 	t.Helper()
@@ -334,7 +319,7 @@ func wantCodes(t *testing.T, l []int, codes []string) *canon.Code {
 func TestByTheWords(t *testing.T) {
 	throw := sample.Dice(3)
 	for range 300 {
-		l := lengths(t, throw)
+		l := sample.Lengths(throw)
 		codes := slow(l)
 		c := wantCodes(t, l, codes)
 		var w bits.Writer
@@ -363,7 +348,7 @@ func TestByTheWords(t *testing.T) {
 func TestTakeOfAnything(t *testing.T) {
 	throw := sample.Dice(4)
 	for range 400 {
-		l := lengths(t, throw)
+		l := sample.Lengths(throw)
 		codes := slow(l)
 		c := made(t, l)
 		b := make([]byte, throw(12))
@@ -408,7 +393,7 @@ func written(c *canon.Code, s int) string {
 func TestNoCodeBeginsAnother(t *testing.T) {
 	throw := sample.Dice(5)
 	for range 60 {
-		l := lengths(t, throw)
+		l := sample.Lengths(throw)
 		c := made(t, l)
 		var all []string
 		for s := range l {

@@ -1,4 +1,4 @@
-// Package sample is what the tests of several layers need: numbers and bytes without a plain pattern, the same ones in each run, bits as text, tokens of a text, what is changed within 32 bits, files and their bytes, steps, and what is refused.
+// Package sample is what the tests of several layers need: numbers and bytes without a plain pattern, the same ones in each run, bits as text, lengths that may be a code, tokens of a text, what is changed within 32 bits, files and their bytes, steps, and what is refused.
 package sample
 
 import (
@@ -12,6 +12,7 @@ import (
 	"bindle/bits"
 	"bindle/crashfs"
 	"bindle/crc"
+	"bindle/weigh"
 )
 
 // next is the number behind one. Its highest bits have the least of a pattern.
@@ -88,6 +89,18 @@ func Number(n, width int) string {
 		s.WriteByte('0' + byte(n>>k&1))
 	}
 	return s.String()
+}
+
+// Lengths is some that may be a code, with symbols without one between.
+func Lengths(dice func(int) int) []int {
+	w := make([]int, 1+dice(1+dice(320)))
+	for i := range w {
+		w[i] = max(0, dice(1+1<<dice(25))-dice(6))
+	}
+	w[dice(len(w))] = 1
+	// They aren't refused: there are few weights, and none is great.
+	l, _ := weigh.Lengths(w)
+	return l
 }
 
 // Tokens is each byte of a text as a token.

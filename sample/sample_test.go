@@ -9,6 +9,7 @@ import (
 	"bindle/bits"
 	"bindle/crashfs"
 	"bindle/sample"
+	"bindle/weigh"
 )
 
 func TestBitsAndText(t *testing.T) {
@@ -63,6 +64,21 @@ func TestBursts(t *testing.T) {
 		if at == 3 {
 			break
 		}
+	}
+}
+
+func TestLengths(t *testing.T) {
+	longest, most := map[int]int{}, 0
+	dice := sample.Dice(5)
+	for range 500 {
+		l := sample.Lengths(dice)
+		if longest[weigh.Longest(l)]++; !weigh.Full(l) && weigh.Longest(l) != 1 {
+			t.Fatalf("%d", l)
+		}
+		most = max(most, len(l))
+	}
+	if longest[0] > 0 || longest[1] == 0 || longest[5] == 0 || longest[15] == 0 || most < 200 {
+		t.Errorf("%v, at most %d", longest, most)
 	}
 }
 
