@@ -1,4 +1,4 @@
-// Package sample is what the tests of several layers need: numbers and bytes without a plain pattern, the same ones in each run, bits as text, lengths that may be a code, tokens of a text, what is changed within 32 bits, files and their bytes, steps, and what is refused.
+// Package sample is what the tests of several layers need: numbers and bytes without a plain pattern, the same ones in each run, bits as text, lengths that may be a code, tokens of a text, what is changed within 32 bits, files and their bytes, steps, records that are laid, and what is refused.
 package sample
 
 import (
@@ -12,6 +12,8 @@ import (
 	"bindle/bits"
 	"bindle/crashfs"
 	"bindle/crc"
+	"bindle/record"
+	"bindle/stone"
 	"bindle/weigh"
 )
 
@@ -139,6 +141,94 @@ func Content(f *crashfs.FS, name string) []byte {
 	}
 	b, _ := f.Read(id, 0, api.Sector*f.Size(id))
 	return b
+}
+
+// Laid is bytes of which records stand from 1024 on, and what these are.
+type Laid struct {
+	C    crc.Table
+	B    []byte
+	Rows []record.Record
+}
+
+// Lay is no records.
+func Lay() *Laid {
+	return &Laid{C: crc.Make(), B: Bytes(api.Begin, 1)}
+}
+
+// lay lays a record behind the others.
+func (x *Laid) lay(b []byte, e api.Errno) {
+	at := len(x.B)
+	x.B = append(x.B, b...)
+	r, refused := record.Take(&x.C, x.B, at)
+	if e != api.OK || refused != api.OK {
+		panic("no record")
+	}
+	x.Rows = append(x.Rows, r)
+}
+
+// Put lays a member of a text.
+func (x *Laid) Put(name, text string) {
+	x.lay(record.Put(&x.C, name, []byte(text), 1))
+}
+
+// Stream lays a streamed member of texts.
+func (x *Laid) Stream(name string, texts ...string) {
+	var l [][]byte
+	for _, s := range texts {
+		l = append(l, []byte(s))
+	}
+	x.lay(record.Stream(&x.C, name, l))
+}
+
+// Gone lays a tombstone.
+func (x *Laid) Gone(name string) {
+	x.lay(stone.Put(&x.C, name))
+}
+
+// Any lays so many records of any kind, of eight names.
+func (x *Laid) Any(dice func(int) int, many int) {
+	for range many {
+		name := string(rune('a' + dice(8)))
+		switch dice(4) {
+		case 0:
+			x.Gone(name)
+		case 1:
+			x.Stream(name, strings.Repeat("s", dice(9)), "t")
+		default:
+			x.Put(name, strings.Repeat("p", dice(99)))
+		}
+	}
+}
+
+// Several is records of all kinds: a is put three times, and once taken away between, b taken away at last, c streamed, d taken away that was never there.
+func Several() *Laid {
+	x := Lay()
+	x.Put("b", "bb")
+	x.Put("a", "first")
+	x.Stream("c", "cc", "c")
+	x.Gone("a")
+	x.Put("a", "second")
+	x.Gone("d")
+	x.Put("a", strings.Repeat("third", 50))
+	x.Put("aa", "")
+	x.Gone("b")
+	return x
+}
+
+// Live is what is live behind records, by the document's words: of each that is a member's, is none of its name behind it?
+func Live(rows []record.Record) []api.Member {
+	var l []api.Member
+	for i, r := range rows {
+		last := r.Kind == record.Live
+		for _, behind := range rows[i+1:] {
+			last = last && behind.Member.Name != r.Member.Name
+		}
+		if last {
+			l = append(l, r.Member)
+		}
+	}
+	slices.SortFunc(l, func(a, b api.Member) int { return strings.Compare(a.Name, b.Name) })
+	return l
 }
 
 // Refusal is bytes, a place of them, and with which error what should stand there is refused.

@@ -8,6 +8,7 @@ import (
 	"bindle/api"
 	"bindle/bits"
 	"bindle/crashfs"
+	"bindle/record"
 	"bindle/sample"
 	"bindle/weigh"
 )
@@ -123,4 +124,38 @@ func TestFilesAndTheirBytes(t *testing.T) {
 	if len(sample.Content(f, "b")) != 0 || len(sample.Content(nil, "a")) != 0 {
 		t.Error("bytes of what isn't there")
 	}
+}
+
+func TestLaid(t *testing.T) {
+	x := sample.Several()
+	at, kinds := api.Begin, map[int]int{}
+	for _, r := range x.Rows {
+		if got, e := record.Take(&x.C, x.B, at); got != r || e != api.OK {
+			t.Errorf("at %d: %v %d, not %v", at, got, e, r)
+		}
+		at = r.Next
+		kinds[r.Kind]++
+		kinds[10+r.Member.Method]++
+	}
+	if at != len(x.B) || kinds[record.Live] != 6 || kinds[record.Gone] != 3 || kinds[10+api.Streamed] != 1 || kinds[10+api.Packed] != 1 {
+		t.Errorf("%d of %d bytes, %v", at, len(x.B), kinds)
+	}
+	l := sample.Live(x.Rows)
+	if len(l) != 3 || l[0] != x.Rows[6].Member || l[1] != x.Rows[7].Member || l[2] != x.Rows[2].Member || len(sample.Live(nil)) != 0 {
+		t.Errorf("%v", l)
+	}
+	x = sample.Lay()
+	x.Any(sample.Dice(1), 100)
+	if len(x.Rows) != 100 || len(sample.Live(x.Rows)) < 3 {
+		t.Errorf("%d records", len(x.Rows))
+	}
+}
+
+func TestNoRecordIsLaid(t *testing.T) {
+	defer func() {
+		if recover() == nil {
+			t.Error("a record of no name is laid")
+		}
+	}()
+	sample.Lay().Gone("")
 }
