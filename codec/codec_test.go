@@ -8,7 +8,6 @@ import (
 	"testing"
 
 	"bindle/api"
-	"bindle/bits"
 	"bindle/block"
 	"bindle/codec"
 	"bindle/sample"
@@ -48,16 +47,6 @@ func wantPieces(t *testing.T, what string, area, want []byte, e api.Errno) {
 	}
 }
 
-// packed is the bytes of the block of tokens.
-func packed(t *testing.T, l []api.Token) []byte {
-	t.Helper()
-	var w bits.Writer
-	if e := block.Put(&w, l); e != api.OK {
-		t.Fatalf("a block of %d tokens: %d", len(l), e)
-	}
-	return w.Bytes()
-}
-
 // plain is n bytes of so many kinds: the fewer these are, the shorter the block.
 func plain(n, kinds int, seed uint32) []byte {
 	b := sample.Bytes(n, seed)
@@ -65,16 +54,6 @@ func plain(n, kinds int, seed uint32) []byte {
 		b[i] = byte(int(b[i]) % kinds)
 	}
 	return b
-}
-
-// streamed is a payload of these pieces.
-func streamed(rows ...string) []byte {
-	var area []byte
-	for _, row := range rows {
-		area = append(area, byte(len(row)), byte(len(row)>>8))
-		area = append(area, row...)
-	}
-	return append(area, 0, 0)
 }
 
 // 14.1
@@ -105,14 +84,14 @@ func TestPackByLevels(t *testing.T) {
 	b := []byte(strings.Repeat("abcde.abc1abc2abc3abc4abcde.bcde.abcdefgh", 20) + string(plain(800, 6, 1)))
 	var areas []string
 	for level := range 4 {
-		area := packed(t, tokens.Split(b, level))
+		area := sample.Packed(tokens.Split(b, level))
 		wantPack(t, "a level", b, level, api.Packed, area)
 		areas = append(areas, string(area))
 	}
 	if slices.Sort(areas); len(slices.Compact(areas)) < 3 {
 		t.Error("levels can't be told from each other by these bytes")
 	}
-	want := packed(t, tokens.Split(b, 3))
+	want := sample.Packed(tokens.Split(b, 3))
 	for _, level := range []int{4, 5, 1000, math.MaxInt} {
 		wantPack(t, "above the levels", b, level, api.Packed, want)
 	}
@@ -123,7 +102,7 @@ func TestPackJustShorter(t *testing.T) {
 	seen := map[int]int{}
 	for seed := range uint32(400) {
 		b := plain(40+int(seed)%40, 3, seed)
-		area := packed(t, tokens.Split(b, 2))
+		area := sample.Packed(tokens.Split(b, 2))
 		fewer := len(b) - len(area)
 		seen[fewer]++
 		if fewer > 0 {
@@ -143,7 +122,7 @@ func TestPackAtTheLimit(t *testing.T) {
 		wantPack(t, "as many as there may be", rough, level, api.Stored, rough)
 	}
 	wantPack(t, "as many as there may be", most, -1, api.Stored, most)
-	wantPack(t, "as many as there may be", most, 1, api.Packed, packed(t, tokens.Split(most, 1)))
+	wantPack(t, "as many as there may be", most, 1, api.Packed, sample.Packed(tokens.Split(most, 1)))
 	for _, level := range []int{math.MinInt, -1, 0, 1, 2, 3, 4} {
 		for _, n := range []int{maxData + 1, maxData + 2, 2 * maxData} {
 			if m, a, e := codec.Pack(make([]byte, n), level); m != 0 || len(a) != 0 || e != api.ErrSize {
@@ -196,20 +175,20 @@ func TestUnpackStored(t *testing.T) {
 func TestUnpackPacked(t *testing.T) {
 	b := []byte("abcabcabcabcabcd")
 	l := tokens.Split(b, 3)
-	area := packed(t, l)
+	area := sample.Packed(l)
 	wantUnpack(t, "fine", api.Packed, area, len(b), b, api.OK)
-	wantUnpack(t, "of single bytes", api.Packed, packed(t, tokens.Split([]byte("xyz"), 0)), 3, []byte("xyz"), api.OK)
-	wantUnpack(t, "of nothing", api.Packed, packed(t, nil), 0, nil, api.OK)
+	wantUnpack(t, "of single bytes", api.Packed, sample.Packed(tokens.Split([]byte("xyz"), 0)), 3, []byte("xyz"), api.OK)
+	wantUnpack(t, "of nothing", api.Packed, sample.Packed(nil), 0, nil, api.OK)
 	wantUnpack(t, "of a size that is greater", api.Packed, area, len(b)+1, nil, api.ErrSize)
 	wantUnpack(t, "of the greatest size", api.Packed, area, maxData, nil, api.ErrSize)
-	wantUnpack(t, "of nothing, of a greater size", api.Packed, packed(t, nil), 1, nil, api.ErrSize)
+	wantUnpack(t, "of nothing, of a greater size", api.Packed, sample.Packed(nil), 1, nil, api.ErrSize)
 	for size := range b {
 		wantUnpack(t, "of a size that is less", api.Packed, area, size, nil, api.ErrSize)
 	}
 	for n := range area {
 		wantUnpack(t, "too short", api.Packed, area[:n], len(b), nil, api.ErrEnd)
 	}
-	wantUnpack(t, "too far off", api.Packed, packed(t, []api.Token{{Byte: 'a'}, {Len: 3, Dist: 2}}), 4, nil, api.ErrForm)
+	wantUnpack(t, "too far off", api.Packed, sample.Packed([]api.Token{{Byte: 'a'}, {Len: 3, Dist: 2}}), 4, nil, api.ErrForm)
 	wantUnpack(t, "lengths that are none", api.Packed, make([]byte, 9), 4, nil, api.ErrSize)
 	wantUnpack(t, "codes that are none", api.Packed, append([]byte{1}, make([]byte, 20)...), 4, nil, api.ErrCodes)
 }
@@ -221,7 +200,7 @@ func TestUnpackPackedLeft(t *testing.T) {
 		b := plain(n, 5, uint32(n))
 		l := tokens.Split(b, 1)
 		count, _ := block.Bits(l)
-		area := packed(t, l)
+		area := sample.Packed(l)
 		left := 8*len(area) - count
 		seen[left] = true
 		wantUnpack(t, "fine", api.Packed, area, n, b, api.OK)
@@ -241,9 +220,9 @@ func TestUnpackPackedLeft(t *testing.T) {
 }
 
 func TestUnpackStreamed(t *testing.T) {
-	area := streamed("abc", "d", "ef")
+	area := sample.Streamed("abc", "d", "ef")
 	wantUnpack(t, "fine", api.Streamed, area, 6, []byte("abcdef"), api.OK)
-	wantUnpack(t, "of nothing", api.Streamed, streamed(), 0, nil, api.OK)
+	wantUnpack(t, "of nothing", api.Streamed, sample.Streamed(), 0, nil, api.OK)
 	for _, size := range []int{0, 5, 7, maxData} {
 		wantUnpack(t, "another size", api.Streamed, area, size, nil, api.ErrSize)
 	}
@@ -253,13 +232,13 @@ func TestUnpackStreamed(t *testing.T) {
 		wantUnpack(t, "too short", api.Streamed, area[:n], 6, nil, api.ErrEnd)
 	}
 	most := string(sample.Bytes(maxData, 4))
-	wantUnpack(t, "most", api.Streamed, streamed(most[:65535], most[65535:]), maxData, []byte(most), api.OK)
-	wantUnpack(t, "more than there may be", api.Streamed, streamed(most[:65535], most[:2]), maxData, nil, api.ErrSize)
+	wantUnpack(t, "most", api.Streamed, sample.Streamed(most[:65535], most[65535:]), maxData, []byte(most), api.OK)
+	wantUnpack(t, "more than there may be", api.Streamed, sample.Streamed(most[:65535], most[:2]), maxData, nil, api.ErrSize)
 }
 
 func TestUnpackIsNewMemory(t *testing.T) {
 	b := []byte("abcabcabcabc")
-	for method, area := range [][]byte{api.Stored: bytes.Clone(b), api.Packed: packed(t, tokens.Split(b, 1)), api.Streamed: codec.Piece(b)} {
+	for method, area := range [][]byte{api.Stored: bytes.Clone(b), api.Packed: sample.Packed(tokens.Split(b, 1)), api.Streamed: codec.Piece(b)} {
 		if method == api.Streamed {
 			area = append(area, 0, 0)
 		}
@@ -343,7 +322,7 @@ func TestPieces(t *testing.T) {
 	wantPieces(t, "a piece without an end behind it", []byte{2, 0, 9, 9}, nil, api.ErrEnd)
 	wantPieces(t, "a great piece", []byte{255, 255, 9}, nil, api.ErrEnd)
 	wantPieces(t, "a great piece", append([]byte{255, 255}, make([]byte, 65537)...), make([]byte, 65535), api.OK)
-	area := streamed("abc", strings.Repeat("d", 300), "e")
+	area := sample.Streamed("abc", strings.Repeat("d", 300), "e")
 	wantPieces(t, "some", area, []byte("abc"+strings.Repeat("d", 300)+"e"), api.OK)
 	for n := range area {
 		wantPieces(t, "too short", area[:n], nil, api.ErrEnd)
@@ -358,10 +337,10 @@ func TestStreamIsNewMemory(t *testing.T) {
 	area, _ := codec.Stream([][]byte{b})
 	area[2] = 'y'
 	wantBytes(t, "what was handed in", b, []byte("abc"))
-	area = streamed("abc")
+	area = sample.Streamed("abc")
 	got, _ := codec.Pieces(area)
 	got[0] = 'z'
-	wantBytes(t, "what was handed in", area, streamed("abc"))
+	wantBytes(t, "what was handed in", area, sample.Streamed("abc"))
 }
 
 func TestMost(t *testing.T) {
@@ -406,7 +385,7 @@ func TestUnpackOfAnything(t *testing.T) {
 	throw := sample.Dice(8)
 	for round := range 3000 {
 		b := plain(throw(200), 1+throw(20), uint32(round))
-		area := packed(t, tokens.Split(b, 3))
+		area := sample.Packed(tokens.Split(b, 3))
 		for range 1 + throw(3) {
 			area[throw(len(area))] ^= 1 << throw(8)
 		}

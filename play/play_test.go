@@ -613,7 +613,7 @@ func TestEveryAnswerMayBeGiven(t *testing.T) {
 	}
 }
 
-// Without a refused call, and without a crash, every answer is that of a map from names to data.
+// 0.1: without a refused call, and without a crash, every answer is that of a map from names to data.
 func TestAMapAnswers(t *testing.T) {
 	for seed := range uint32(100) {
 		dice := sample.Dice(seed)
@@ -656,7 +656,7 @@ func must(t *testing.T, m *model.Model, o api.Op, x model.Answer) {
 	}
 }
 
-// Whenever the power goes, and whatever is kept of what waits, the next Open finds what may be, and changes no byte.
+// 0.2: whenever the power goes, and whatever is kept of what waits, the next Open finds what may be, and changes no byte.
 func TestThePowerGoesAnywhere(t *testing.T) {
 	for n := 0; ; n++ {
 		// From one call on all are refused, as if there were no power any more.
@@ -732,7 +732,7 @@ func wantOneMap(t *testing.T, what string, b []byte, want []api.File) {
 	}
 }
 
-// What the slot and the directory say, what a scan finds, what a strict check finds, and what is salvaged up to the End, is one map.
+// 0.3: what the slot and the directory say, what a scan finds, what a strict check finds, and what is salvaged up to the End, is one map; Vacuum leaves it.
 func TestOneMap(t *testing.T) {
 	for seed := range uint32(150) {
 		dice := sample.Dice(seed)
@@ -762,7 +762,7 @@ func TestOneMap(t *testing.T) {
 	}
 }
 
-// What the strict check takes of any bytes is an archive as one that was made is.
+// 0.4: what the strict check takes of any bytes is an archive as one that was made is.
 func TestWhatIsCheckedIsAnArchive(t *testing.T) {
 	c := crc.Make()
 	checked := 0
@@ -808,7 +808,7 @@ func TestWhatIsCheckedIsAnArchive(t *testing.T) {
 	}
 }
 
-// A file is no longer than what was issued asks for, and twice as many sectors are enough.
+// 0.6: a file is no longer than what was issued asks for, and twice as many sectors are enough. (0.5 is held by package archive's tests.)
 func TestNoMoreRoomThanIssued(t *testing.T) {
 	for seed := range uint32(100) {
 		// At first there is room for all; then just as much as was asked for at most.

@@ -9,7 +9,6 @@ import (
 
 	"bindle/api"
 	"bindle/bits"
-	"bindle/block"
 	"bindle/canon"
 	"bindle/codec"
 	"bindle/reader"
@@ -248,26 +247,6 @@ func wantAll(t *testing.T, what string, method int, area []byte, size int) {
 	}
 }
 
-// packed is the bytes of the block of tokens.
-func packed(t *testing.T, l []api.Token) []byte {
-	t.Helper()
-	var w bits.Writer
-	if e := block.Put(&w, l); e != api.OK {
-		t.Fatalf("no block: %d", e)
-	}
-	return w.Bytes()
-}
-
-// streamed is a payload of these pieces.
-func streamed(rows ...string) []byte {
-	var area []byte
-	for _, row := range rows {
-		area = append(area, byte(len(row)), byte(len(row)>>8))
-		area = append(area, row...)
-	}
-	return append(area, 0, 0)
-}
-
 // 36.1
 
 func TestExample(t *testing.T) {
@@ -283,8 +262,8 @@ func TestExample(t *testing.T) {
 }
 
 func TestNewRefused(t *testing.T) {
-	stream := streamed("abc")
-	block := packed(t, sample.Tokens("abc"))
+	stream := sample.Streamed("abc")
+	block := sample.Packed(sample.Tokens("abc"))
 	for _, x := range []struct {
 		what   string
 		method int
@@ -393,23 +372,23 @@ func TestStreamed(t *testing.T) {
 		b    string
 		end  api.Errno
 	}{
-		{"none", streamed(), 0, "", api.OK},
-		{"fewer than one", streamed(), 1, "", api.ErrSize},
+		{"none", sample.Streamed(), 0, "", api.OK},
+		{"fewer than one", sample.Streamed(), 1, "", api.ErrSize},
 		{"nothing", nil, 0, "", api.ErrEnd},
 		{"half a length", []byte{0}, 0, "", api.ErrEnd},
-		{"a piece", streamed("abc"), 3, "abc", api.OK},
-		{"pieces", streamed("abc", "d", "ef"), 6, "abcdef", api.OK},
-		{"a piece too many", streamed("abc", "d", "ef"), 5, "abcd", api.ErrSize},
-		{"a byte too many, of the first piece", streamed("abc", "d"), 2, "", api.ErrSize},
-		{"a byte too few", streamed("abc", "d", "ef"), 7, "abcdef", api.ErrSize},
-		{"something behind", append(streamed("abc", "d"), 1), 4, "abcd", api.ErrForm},
-		{"something behind, and too few", append(streamed("abc", "d"), 0, 0), 5, "abcd", api.ErrForm},
-		{"something behind the end alone", append(streamed(), 0, 0), 0, "", api.ErrForm},
-		{"no end", streamed("abc", "d")[:8], 4, "abcd", api.ErrEnd},
-		{"half an end", streamed("abc", "d")[:9], 4, "abcd", api.ErrEnd},
-		{"not all of a piece", streamed("abc", "def")[:9], 6, "abc", api.ErrEnd},
-		{"not all of a piece, which is too many", streamed("abc", "def")[:9], 4, "abc", api.ErrEnd},
-		{"a long piece", streamed(strings.Repeat("l", 300), "m"), 301, strings.Repeat("l", 300) + "m", api.OK},
+		{"a piece", sample.Streamed("abc"), 3, "abc", api.OK},
+		{"pieces", sample.Streamed("abc", "d", "ef"), 6, "abcdef", api.OK},
+		{"a piece too many", sample.Streamed("abc", "d", "ef"), 5, "abcd", api.ErrSize},
+		{"a byte too many, of the first piece", sample.Streamed("abc", "d"), 2, "", api.ErrSize},
+		{"a byte too few", sample.Streamed("abc", "d", "ef"), 7, "abcdef", api.ErrSize},
+		{"something behind", append(sample.Streamed("abc", "d"), 1), 4, "abcd", api.ErrForm},
+		{"something behind, and too few", append(sample.Streamed("abc", "d"), 0, 0), 5, "abcd", api.ErrForm},
+		{"something behind the end alone", append(sample.Streamed(), 0, 0), 0, "", api.ErrForm},
+		{"no end", sample.Streamed("abc", "d")[:8], 4, "abcd", api.ErrEnd},
+		{"half an end", sample.Streamed("abc", "d")[:9], 4, "abcd", api.ErrEnd},
+		{"not all of a piece", sample.Streamed("abc", "def")[:9], 6, "abc", api.ErrEnd},
+		{"not all of a piece, which is too many", sample.Streamed("abc", "def")[:9], 4, "abc", api.ErrEnd},
+		{"a long piece", sample.Streamed(strings.Repeat("l", 300), "m"), 301, strings.Repeat("l", 300) + "m", api.OK},
 		{"a length of two bytes, of which few are there", []byte{0, 255, 1, 2, 3}, 9, "", api.ErrEnd},
 	} {
 		if b, end, e := gives(api.Streamed, x.area, x.size); string(b) != x.b || end != x.end || e != api.OK {
@@ -434,18 +413,18 @@ func TestPacked(t *testing.T) {
 		b    string
 		end  api.Errno
 	}{
-		{"no tokens", packed(t, nil), 0, "", api.OK},
-		{"no tokens, though there should be", packed(t, nil), 1, "", api.ErrSize},
-		{"bytes, and a match", packed(t, all), 8, "abababaa", api.OK},
-		{"a byte too few", packed(t, all), 9, "abababaa", api.ErrSize},
-		{"a byte too many", packed(t, all), 7, "abababa", api.ErrSize},
-		{"a match too long", packed(t, all), 6, "ab", api.ErrSize},
-		{"the first byte too many", packed(t, all), 0, "", api.ErrSize},
-		{"too far off", packed(t, far), 6, "ab", api.ErrForm},
-		{"too far off, and too long", packed(t, far), 4, "ab", api.ErrForm},
-		{"nothing ahead", packed(t, []api.Token{five}), 5, "", api.ErrForm},
-		{"a byte behind", append(packed(t, all), 0), 8, "abababaa", api.ErrForm},
-		{"a byte behind, and too few", append(packed(t, all), 0), 9, "abababaa", api.ErrSize},
+		{"no tokens", sample.Packed(nil), 0, "", api.OK},
+		{"no tokens, though there should be", sample.Packed(nil), 1, "", api.ErrSize},
+		{"bytes, and a match", sample.Packed(all), 8, "abababaa", api.OK},
+		{"a byte too few", sample.Packed(all), 9, "abababaa", api.ErrSize},
+		{"a byte too many", sample.Packed(all), 7, "abababa", api.ErrSize},
+		{"a match too long", sample.Packed(all), 6, "ab", api.ErrSize},
+		{"the first byte too many", sample.Packed(all), 0, "", api.ErrSize},
+		{"too far off", sample.Packed(far), 6, "ab", api.ErrForm},
+		{"too far off, and too long", sample.Packed(far), 4, "ab", api.ErrForm},
+		{"nothing ahead", sample.Packed([]api.Token{five}), 5, "", api.ErrForm},
+		{"a byte behind", append(sample.Packed(all), 0), 8, "abababaa", api.ErrForm},
+		{"a byte behind, and too few", append(sample.Packed(all), 0), 9, "abababaa", api.ErrSize},
 	} {
 		if b, end, e := gives(api.Packed, x.area, x.size); string(b) != x.b || end != x.end || e != api.OK {
 			t.Errorf("%s: %q %d is told by the words, not %q %d", x.what, b, end, x.b, x.end)
@@ -523,7 +502,7 @@ func TestPackedCodes(t *testing.T) {
 }
 
 func TestNextOfFew(t *testing.T) {
-	for method, area := range [][]byte{[]byte("abcabcabcabc"), packed(t, tokens.Split([]byte("abcabcabcabc"), 1)), streamed("abc", "abcab", "cabc")} {
+	for method, area := range [][]byte{[]byte("abcabcabcabc"), sample.Packed(tokens.Split([]byte("abcabcabcabc"), 1)), sample.Streamed("abc", "abcab", "cabc")} {
 		r, _ := reader.New(method, area, 12)
 		for _, n := range []int{0, -1, math.MinInt} {
 			wantNext(t, "none at first", r, n, nil, api.OK)
@@ -546,7 +525,7 @@ func TestDoneLooksAhead(t *testing.T) {
 		area []byte
 		done bool
 		end  api.Errno
-	}{{streamed("abc"), true, api.OK}, {append(streamed("abc"), 0), false, api.ErrForm}, {streamed("abc", "d"), false, api.ErrSize}, {streamed("abc")[:5], false, api.ErrEnd}} {
+	}{{sample.Streamed("abc"), true, api.OK}, {append(sample.Streamed("abc"), 0), false, api.ErrForm}, {sample.Streamed("abc", "d"), false, api.ErrSize}, {sample.Streamed("abc")[:5], false, api.ErrEnd}} {
 		r, _ := reader.New(api.Streamed, x.area, 3)
 		wantDone(t, "at first", r, false)
 		wantNext(t, "all", r, 3, []byte("abc"), api.OK)
@@ -554,9 +533,9 @@ func TestDoneLooksAhead(t *testing.T) {
 		wantNext(t, "behind", r, 1, nil, x.end)
 		wantDone(t, "behind", r, x.done)
 	}
-	r, _ := reader.New(api.Streamed, streamed(), 0)
+	r, _ := reader.New(api.Streamed, sample.Streamed(), 0)
 	wantDone(t, "of nothing", r, true)
-	r, _ = reader.New(api.Streamed, streamed("ab", "c"), 3)
+	r, _ = reader.New(api.Streamed, sample.Streamed("ab", "c"), 3)
 	wantNext(t, "a piece", r, 2, []byte("ab"), api.OK)
 	wantDone(t, "a piece", r, false)
 	wantNext(t, "the other one", r, 2, []byte("c"), api.OK)
@@ -608,7 +587,7 @@ func TestANilReader(t *testing.T) {
 // What was told may be changed: what is behind is made of the reader's own bytes.
 func TestAnswersAreNewMemory(t *testing.T) {
 	b := []byte(strings.Repeat("abcdef", 100))
-	for method, area := range [][]byte{b, packed(t, tokens.Split(b, 1)), streamed(string(b[:300]), string(b[300:]))} {
+	for method, area := range [][]byte{b, sample.Packed(tokens.Split(b, 1)), sample.Streamed(string(b[:300]), string(b[300:]))} {
 		r, e := reader.New(method, bytes.Clone(area), len(b))
 		if e != api.OK {
 			t.Fatal(e)
@@ -659,7 +638,7 @@ func TestPartRefused(t *testing.T) {
 
 // What stands behind a part isn't looked at; where bytes lack, it is told how the payload ends.
 func TestPart(t *testing.T) {
-	spoilt := append(streamed("abc", "def"), 7)
+	spoilt := append(sample.Streamed("abc", "def"), 7)
 	for _, x := range []struct {
 		area    []byte
 		from, n int
@@ -715,7 +694,7 @@ func TestWholeIsWhatIsUnpacked(t *testing.T) {
 	for range 40 {
 		b := plain(dice, dice(4000))
 		stream, _ := codec.Stream([][]byte{b[:len(b)/3], b[len(b)/3:]})
-		for method, area := range [][]byte{b, packed(t, tokens.Split(b, dice(4))), stream} {
+		for method, area := range [][]byte{b, sample.Packed(tokens.Split(b, dice(4))), stream} {
 			for _, step := range []int{1, 1 + dice(300), 5000} {
 				wantUnpacked(t, method, area, len(b), step)
 			}
@@ -723,7 +702,7 @@ func TestWholeIsWhatIsUnpacked(t *testing.T) {
 		}
 	}
 	b := plain(dice, maxData)
-	wantUnpacked(t, api.Packed, packed(t, tokens.Split(b, 1)), maxData, 1000)
+	wantUnpacked(t, api.Packed, sample.Packed(tokens.Split(b, 1)), maxData, 1000)
 }
 
 func TestAnything(t *testing.T) {
@@ -732,7 +711,7 @@ func TestAnything(t *testing.T) {
 	for range 1500 {
 		b := plain(dice, dice(200))
 		stream, _ := codec.Stream([][]byte{b[:len(b)/3], b[len(b)/3:]})
-		for method, area := range [][]byte{b, packed(t, tokens.Split(b, 3)), stream} {
+		for method, area := range [][]byte{b, sample.Packed(tokens.Split(b, 3)), stream} {
 			for range 1 + dice(3) {
 				if len(area) > 0 {
 					area[dice(len(area))] ^= 1 << dice(8)

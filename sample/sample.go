@@ -1,4 +1,4 @@
-// Package sample is what the tests of several layers need: numbers and bytes without a plain pattern, the same ones in each run, bits as text, lengths that may be a code, tokens of a text, what is changed within 32 bits, files and their bytes, steps, records that are laid, and what is refused.
+// Package sample is what the tests of several layers need: numbers and bytes without a plain pattern, the same ones in each run, bits as text, lengths that may be a code, tokens of a text, payloads, what is changed within 32 bits, files and their bytes, steps, records that are laid, and what is refused.
 package sample
 
 import (
@@ -10,6 +10,7 @@ import (
 
 	"bindle/api"
 	"bindle/bits"
+	"bindle/block"
 	"bindle/crashfs"
 	"bindle/crc"
 	"bindle/record"
@@ -112,6 +113,25 @@ func Tokens(text string) []api.Token {
 		l = append(l, api.Token{Byte: x})
 	}
 	return l
+}
+
+// Packed is the bytes of the block of tokens.
+func Packed(l []api.Token) []byte {
+	var w bits.Writer
+	if block.Put(&w, l) != api.OK {
+		panic("no block")
+	}
+	return w.Bytes()
+}
+
+// Streamed is a payload of these pieces.
+func Streamed(pieces ...string) []byte {
+	var area []byte
+	for _, p := range pieces {
+		area = append(area, byte(len(p)), byte(len(p)>>8))
+		area = append(area, p...)
+	}
+	return append(area, 0, 0)
 }
 
 // File is a file of a text.

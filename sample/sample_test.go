@@ -3,10 +3,12 @@ package sample_test
 import (
 	"bytes"
 	"slices"
+	"strings"
 	"testing"
 
 	"bindle/api"
 	"bindle/bits"
+	"bindle/block"
 	"bindle/crashfs"
 	"bindle/record"
 	"bindle/sample"
@@ -86,6 +88,16 @@ func TestLengths(t *testing.T) {
 func TestTokens(t *testing.T) {
 	if l := sample.Tokens("a\xff"); !slices.Equal(l, []api.Token{{Byte: 'a'}, {Byte: 255}}) || len(sample.Tokens("")) != 0 {
 		t.Errorf("%v", l)
+	}
+}
+
+func TestPayloads(t *testing.T) {
+	if b := sample.Streamed("ab", "", strings.Repeat("x", 300)); !bytes.Equal(b, slices.Concat([]byte{2, 0, 'a', 'b', 0, 0, 44, 1}, bytes.Repeat([]byte("x"), 300), []byte{0, 0})) {
+		t.Errorf("%x", b)
+	}
+	l, e := block.Take(bits.New(sample.Packed(sample.Tokens("aba"))), 3)
+	if !slices.Equal(l, sample.Tokens("aba")) || e != api.OK {
+		t.Errorf("%v %d", l, e)
 	}
 }
 
